@@ -15,6 +15,7 @@ import (
 func sampleTexts() []string {
 	return []string{
 		"", "a", "_name9", "9name", "ok", "gone", "none such", "a\u00e4\u20ac\U0001f600", "\ufffd",
+		"Zg==", "Zm9vZm8=", "a=3Db=\r\nc=20\r\n", "=3d", "a\rb\nc\r\n\r\n",
 		"\xff", "\xc0\x80", "a\xe2\x82", "\xed\xa0\x80", "\xf4\x90\x80\x80", "\x80b\xff",
 		strings.Repeat("n", impl.MaxName), strings.Repeat("n", impl.MaxName+1),
 		strings.Repeat("\u20ac", impl.MaxList), fullText, strings.Repeat("\xff", impl.MaxText),
@@ -37,89 +38,142 @@ func sampleLists() [][]int {
 	}
 }
 
-// allAnswers is what every call of chapters 1 and 2 answers to the samples, asked from the last one on if back.
-func allAnswers(back bool) map[string][]any {
-	answers := map[string][]any{}
-	var calls []func()
-	ask := func(name string, call func() []any) {
-		calls = append(calls, func() { answers[name] = append(answers[name], call()...) })
+func sampleBytes() [][]byte {
+	return [][]byte{
+		nil, {}, {0}, {255, 254}, []byte("foo"), []byte("Zg=="), []byte("a = b \r\n\r\r\n "), []byte(strings.Repeat("x", 77)),
+		madeBytes(1000, 1), []byte(fullText), madeBytes(impl.MaxText, 2), []byte(longText), []byte(endlessText),
 	}
+}
+
+// A call that is put to the program, and what it answers: the code, if it has one, is the last of all.
+type call struct {
+	name  string
+	coded bool
+	ask   func() []any
+}
+
+func oneAnswer[T any](v T) []any { return []any{v} }
+
+func withCode[T any](v T, code int) []any { return []any{v, code} }
+
+// callsOfTexts is every call of chapters 1 to 3 that takes a text, and perhaps a number, with every sample.
+func callsOfTexts() []call {
+	var list []call
 	for _, x := range sampleTexts() {
-		ask("NameOK"+x, func() []any { return []any{impl.NameOK(x)} })
-		ask("CodeOf"+x, func() []any { return []any{impl.CodeOf(x)} })
-		ask("ValidText"+x, func() []any { return []any{impl.ValidText(x)} })
-		ask("RepairText"+x, func() []any { s, code := impl.RepairText(x); return []any{s, code} })
-		ask("RunesOf"+x, func() []any { list, code := impl.RunesOf(x); return []any{append([]int{}, list...), code} })
-		ask("CutRunes"+x, func() []any {
-			var all []any
-			for _, n := range sampleNumbers() {
-				s, code := impl.CutRunes(x, n)
-				all = append(all, s, code)
-			}
-			return all
-		})
-	}
-	ask("numbers", func() []any {
-		var all []any
+		list = append(list,
+			call{"NameOK", false, func() []any { return oneAnswer(impl.NameOK(x)) }},
+			call{"CodeOf", false, func() []any { return oneAnswer(impl.CodeOf(x)) }},
+			call{"ValidText", false, func() []any { return oneAnswer(impl.ValidText(x)) }},
+			call{"RepairText", true, func() []any { return withCode(impl.RepairText(x)) }},
+			call{"RunesOf", true, func() []any { return withCode(impl.RunesOf(x)) }},
+			call{"ReadBase64", true, func() []any { return withCode(impl.ReadBase64(x)) }},
+			call{"ReadQuoted", true, func() []any { return withCode(impl.ReadQuoted(x)) }},
+			call{"LongestLine", false, func() []any { return oneAnswer(impl.LongestLine(x)) }},
+		)
 		for _, n := range sampleNumbers() {
-			all = append(all, impl.CodeWord(n), impl.RuneSize(n))
+			list = append(list, call{"CutRunes", true, func() []any { return withCode(impl.CutRunes(x, n)) }})
 		}
-		return all
-	})
-	ask("TextOfRunes", func() []any {
-		var all []any
-		for _, list := range sampleLists() {
-			s, code := impl.TextOfRunes(list)
-			all = append(all, s, code)
-		}
-		return all
-	})
-	if back {
-		slices.Reverse(calls)
 	}
-	for _, call := range calls {
-		call()
+	return list
+}
+
+// allCalls is every call of the chapters that are built, with every sample.
+func allCalls() []call {
+	list := callsOfTexts()
+	for _, n := range sampleNumbers() {
+		list = append(list,
+			call{"CodeWord", false, func() []any { return oneAnswer(impl.CodeWord(n)) }},
+			call{"RuneSize", false, func() []any { return oneAnswer(impl.RuneSize(n)) }},
+		)
+	}
+	for _, runes := range sampleLists() {
+		list = append(list, call{"TextOfRunes", true, func() []any { return withCode(impl.TextOfRunes(runes)) }})
+	}
+	for _, b := range sampleBytes() {
+		list = append(list,
+			call{"Base64Text", true, func() []any { return withCode(impl.Base64Text(b)) }},
+			call{"QuotedText", true, func() []any { return withCode(impl.QuotedText(b)) }},
+		)
+	}
+	return list
+}
+
+// allAnswers is what every call answers, asked from the last one on if back.
+func allAnswers(calls []call, back bool) [][]any {
+	answers := make([][]any, len(calls))
+	for i := range calls {
+		if back {
+			i = len(calls) - 1 - i
+		}
+		answers[i] = calls[i].ask()
 	}
 	return answers
 }
 
-func TestAlikeAnswers(t *testing.T) {
-	first := allAnswers(false)
-	if !reflect.DeepEqual(first, allAnswers(false)) {
-		t.Error("alike arguments had other answers the second time")
+// alike holds two answers against each other; an empty list and nil are the same value.
+func alike(a, b reflect.Value) bool {
+	switch {
+	case a.Kind() == reflect.Interface:
+		return a.Elem().Type() == b.Elem().Type() && alike(a.Elem(), b.Elem())
+	case a.Kind() == reflect.Struct:
+		for i := range a.NumField() {
+			if !alike(a.Field(i), b.Field(i)) {
+				return false
+			}
+		}
+		return true
+	case a.Kind() == reflect.Slice && a.Len() != b.Len():
+		return false
+	case a.Kind() == reflect.Slice:
+		for i := range a.Len() {
+			if !alike(a.Index(i), b.Index(i)) {
+				return false
+			}
+		}
+		return true
 	}
-	if !reflect.DeepEqual(first, allAnswers(true)) {
-		t.Error("answers hang on what was called ahead")
-	}
-	again := make(chan map[string][]any)
-	for range 4 {
-		go func() { again <- allAnswers(true) }()
-	}
-	for range 4 {
-		if !reflect.DeepEqual(first, <-again) {
-			t.Error("answers hang on what is called beside")
+	return a.Equal(b)
+}
+
+func checkAlike(t *testing.T, calls []call, a, b [][]any, why string) {
+	t.Helper()
+	for i, c := range calls {
+		if !alike(reflect.ValueOf(a[i]), reflect.ValueOf(b[i])) {
+			t.Errorf("%s, call %d: %s", c.name, i, why)
 		}
 	}
 }
 
-// A code other than 0 leaves all else zero.
-func TestZeroBesideACode(t *testing.T) {
-	for _, x := range sampleTexts() {
-		if s, code := impl.RepairText(x); code != impl.OK && s != "" {
-			t.Errorf("RepairText(%q): %q beside %d", brief(x), brief(s), code)
-		}
-		if list, code := impl.RunesOf(x); code != impl.OK && len(list) != 0 {
-			t.Errorf("RunesOf(%q): %d runes beside %d", brief(x), len(list), code)
-		}
-		for _, n := range sampleNumbers() {
-			if s, code := impl.CutRunes(x, n); code != impl.OK && s != "" {
-				t.Errorf("CutRunes(%q, %d): %q beside %d", brief(x), n, brief(s), code)
-			}
-		}
+func TestAlikeAnswers(t *testing.T) {
+	calls := allCalls()
+	first := allAnswers(calls, false)
+	checkAlike(t, calls, first, allAnswers(calls, false), "alike arguments had other answers the second time")
+	checkAlike(t, calls, first, allAnswers(calls, true), "the answer hangs on what was called ahead")
+	again := make(chan [][]any)
+	for range 4 {
+		go func() { again <- allAnswers(calls, true) }()
 	}
-	for _, list := range sampleLists() {
-		if s, code := impl.TextOfRunes(list); code != impl.OK && s != "" {
-			t.Errorf("TextOfRunes of %d: %q beside %d", len(list), brief(s), code)
+	for range 4 {
+		checkAlike(t, calls, first, <-again, "the answer hangs on what is called beside")
+	}
+}
+
+// A code other than 0 leaves all else zero; each code is one of the table.
+func TestZeroBesideACode(t *testing.T) {
+	for i, c := range allCalls() {
+		if !c.coded {
+			continue
+		}
+		answer := c.ask()
+		code := answer[len(answer)-1].(int)
+		if impl.CodeWord(code) == "" {
+			t.Errorf("%s, call %d: the code %d", c.name, i, code)
+		}
+		for _, v := range answer[:len(answer)-1] {
+			x := reflect.ValueOf(v)
+			if code != impl.OK && !alike(x, reflect.Zero(x.Type())) {
+				t.Errorf("%s, call %d: %d stands beside something", c.name, i, code)
+			}
 		}
 	}
 }
@@ -191,15 +245,24 @@ func TestListOfMaxList(t *testing.T) {
 	}
 }
 
-// Nothing is written into a list that is handed in, nor behind its end.
-func TestListStays(t *testing.T) {
+// checkStays asks that nothing is written into a list that is handed in, nor behind its end.
+func checkStays[T comparable](t *testing.T, name string, list []T, ask func([]T)) {
+	t.Helper()
+	room := append(slices.Clone(list), make([]T, 8)...)
+	before := slices.Clone(room)
+	ask(room[:len(list)])
+	if !slices.Equal(room, before) {
+		t.Errorf("%s wrote into a list of %d, or behind it", name, len(list))
+	}
+}
+
+func TestListsStay(t *testing.T) {
 	for _, list := range sampleLists() {
-		room := append(slices.Clone(list), 1, 2, 3, 4, 5, 6, 7, 8)
-		before := slices.Clone(room)
-		impl.TextOfRunes(room[:len(list)])
-		if !slices.Equal(room, before) {
-			t.Errorf("TextOfRunes wrote into a list of %d", len(list))
-		}
+		checkStays(t, "TextOfRunes", list, func(list []int) { impl.TextOfRunes(list) })
+	}
+	for _, b := range sampleBytes() {
+		checkStays(t, "Base64Text", b, func(b []byte) { impl.Base64Text(b) })
+		checkStays(t, "QuotedText", b, func(b []byte) { impl.QuotedText(b) })
 	}
 }
 
@@ -230,6 +293,32 @@ func TestAnswersAreNewMemory(t *testing.T) {
 		for name, s := range map[string]string{"RepairText": repaired, "CutRunes, whole": whole, "CutRunes, a part": part} {
 			if shareMemory(x, s) {
 				t.Errorf("%s of %q shares memory with it", name, brief(x))
+			}
+		}
+	}
+}
+
+func TestBytesAreNewMemory(t *testing.T) {
+	plain := []byte("plain words")
+	encoded, _ := impl.Base64Text(plain)
+	quoted, _ := impl.QuotedText(plain)
+	clear(plain)
+	if encoded != "cGxhaW4gd29yZHM=" || quoted != "plain words" {
+		t.Errorf("an answer follows its argument: %q, %q", encoded, quoted)
+	}
+	for name, read := range map[string]func(string) ([]byte, int){"ReadBase64": impl.ReadBase64, "ReadQuoted": impl.ReadQuoted} {
+		for _, x := range []string{"abcd", strings.Repeat("abcd", 100)} {
+			x = strings.Clone(x)
+			first, _ := read(x)
+			second, _ := read(x)
+			if shareMemory(x, unsafe.String(unsafe.SliceData(first), len(first))) {
+				t.Errorf("%s of %q shares memory with it", name, brief(x))
+			}
+			want := slices.Clone(second)
+			clear(first)
+			_ = append(first, 0)
+			if again, _ := read(x); !slices.Equal(second, want) || !slices.Equal(again, want) {
+				t.Errorf("answers of %s share memory", name)
 			}
 		}
 	}
