@@ -16,6 +16,8 @@ func sampleTexts() []string {
 	return []string{
 		"", "a", "_name9", "9name", "ok", "gone", "none such", "a\u00e4\u20ac\U0001f600", "\ufffd",
 		"Zg==", "Zm9vZm8=", "a=3Db=\r\nc=20\r\n", "=3d", "a\rb\nc\r\n\r\n",
+		"X-Id", "plain words", " a  b ", "=?utf-8?B?w6Q=?= =?utf-8?B?w6Q=?= b", "=?utf-8?B?w6Q?=", "Name: a\r\n b\r\n", "Name: \r\n", "Name:a\r\n",
+		strings.Repeat("w", 201), wordsOf(impl.MaxHeader, 60), wordsOf(impl.MaxHeader+1, 60), strings.Repeat("\u20ac", 333), strings.Repeat("\u20ac", 334),
 		"\xff", "\xc0\x80", "a\xe2\x82", "\xed\xa0\x80", "\xf4\x90\x80\x80", "\x80b\xff",
 		strings.Repeat("n", impl.MaxName), strings.Repeat("n", impl.MaxName+1),
 		strings.Repeat("\u20ac", impl.MaxList), fullText, strings.Repeat("\xff", impl.MaxText),
@@ -56,7 +58,9 @@ func oneAnswer[T any](v T) []any { return []any{v} }
 
 func withCode[T any](v T, code int) []any { return []any{v, code} }
 
-// callsOfTexts is every call of chapters 1 to 3 that takes a text, and perhaps a number, with every sample.
+func twoWithCode[T, U any](v T, w U, code int) []any { return []any{v, w, code} }
+
+// callsOfTexts is every call of chapters 1 to 4 that takes a text, and perhaps a number or another text, with every sample.
 func callsOfTexts() []call {
 	var list []call
 	for _, x := range sampleTexts() {
@@ -69,7 +73,15 @@ func callsOfTexts() []call {
 			call{"ReadBase64", true, func() []any { return withCode(impl.ReadBase64(x)) }},
 			call{"ReadQuoted", true, func() []any { return withCode(impl.ReadQuoted(x)) }},
 			call{"LongestLine", false, func() []any { return oneAnswer(impl.LongestLine(x)) }},
+			call{"HeaderNameOK", false, func() []any { return oneAnswer(impl.HeaderNameOK(x)) }},
+			call{"SafeValue", false, func() []any { return oneAnswer(impl.SafeValue(x)) }},
+			call{"EncodeWords", true, func() []any { return withCode(impl.EncodeWords(x)) }},
+			call{"DecodeWords", true, func() []any { return withCode(impl.DecodeWords(x)) }},
+			call{"UnfoldHeader", true, func() []any { return twoWithCode(impl.UnfoldHeader(x)) }},
 		)
+		for _, y := range sampleTexts() {
+			list = append(list, call{"FoldHeader", true, func() []any { return withCode(impl.FoldHeader(x, y)) }})
+		}
 		for _, n := range sampleNumbers() {
 			list = append(list, call{"CutRunes", true, func() []any { return withCode(impl.CutRunes(x, n)) }})
 		}
@@ -319,6 +331,29 @@ func TestBytesAreNewMemory(t *testing.T) {
 			_ = append(first, 0)
 			if again, _ := read(x); !slices.Equal(second, want) || !slices.Equal(again, want) {
 				t.Errorf("answers of %s share memory", name)
+			}
+		}
+	}
+}
+
+func TestFieldsAreNewMemory(t *testing.T) {
+	name, value := strings.Clone("Subject"), strings.Clone("plain =?utf-8?B?w6Q=?= words")
+	coded := strings.Clone("plain words")
+	field, _ := impl.FoldHeader(name, value)
+	lone, _ := impl.FoldHeader(name, "")
+	unfoldedName, unfoldedValue, _ := impl.UnfoldHeader(field)
+	encodedText, _ := impl.EncodeWords(coded)
+	plain, _ := impl.DecodeWords(coded)
+	one, _ := impl.DecodeWords(coded[:5])
+	part, _ := impl.DecodeWords(value)
+	for answer, texts := range map[string][]string{
+		"FoldHeader": {field, name, value}, "FoldHeader, of an empty value": {lone, name},
+		"UnfoldHeader, the name": {unfoldedName, field}, "UnfoldHeader, the value": {unfoldedValue, field}, "UnfoldHeader, both": {unfoldedName, unfoldedValue},
+		"EncodeWords": {encodedText, coded}, "DecodeWords": {plain, coded}, "DecodeWords, of one word": {one, coded}, "DecodeWords, of encoded ones": {part, value},
+	} {
+		for _, x := range texts[1:] {
+			if texts[0] == "" || shareMemory(x, texts[0]) {
+				t.Errorf("%s: %q is empty, or shares memory with %q", answer, texts[0], x)
 			}
 		}
 	}
