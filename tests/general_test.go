@@ -18,6 +18,7 @@ func sampleTexts() []string {
 		"Zg==", "Zm9vZm8=", "a=3Db=\r\nc=20\r\n", "=3d", "a\rb\nc\r\n\r\n",
 		"X-Id", "plain words", " a  b ", "=?utf-8?B?w6Q=?= =?utf-8?B?w6Q=?= b", "=?utf-8?B?w6Q?=", "Name: a\r\n b\r\n", "Name: \r\n", "Name:a\r\n",
 		strings.Repeat("w", 201), wordsOf(impl.MaxHeader, 60), wordsOf(impl.MaxHeader+1, 60), strings.Repeat("\u20ac", 333), strings.Repeat("\u20ac", 334),
+		"2020-01-02T03:04:05Z", "2020-01-02T03:04:05.5-01:30", "1970-01-01T00:00:00+00:01", "Thu, 02 Jan 2020 03:04:05 +0000", "2 Jan 2020 03:04:05 UT", "31 Dec 2099 23:59:59 -0001",
 		"\xff", "\xc0\x80", "a\xe2\x82", "\xed\xa0\x80", "\xf4\x90\x80\x80", "\x80b\xff",
 		strings.Repeat("n", impl.MaxName), strings.Repeat("n", impl.MaxName+1),
 		strings.Repeat("\u20ac", impl.MaxList), fullText, strings.Repeat("\xff", impl.MaxText),
@@ -28,7 +29,14 @@ func sampleTexts() []string {
 func sampleNumbers() []int {
 	return []int{
 		0, 1, 2, 19, 20, -1, 0x7f, 0x80, 0xd800, 0x10ffff, 0x110000, impl.MaxText, impl.MaxText + 1,
-		1 << 32, math.MaxInt, math.MinInt,
+		1577934245, impl.MaxStamp, impl.MaxStamp + 1, 1 << 32, math.MaxInt, math.MinInt,
+	}
+}
+
+func sampleCivils() []impl.Civil {
+	return []impl.Civil{
+		{}, civil(1970, 1, 1, 0, 0, 0), civil(2000, 2, 29, 1, 2, 3), civil(2099, 12, 31, 23, 59, 59), civil(2100, 1, 1, 0, 0, 0), civil(2001, 2, 29, 0, 0, 0), civil(2000, 1, 1, 24, 0, 0),
+		civil(math.MaxInt, 1, 1, 0, 0, 0), civil(2000, math.MinInt, math.MaxInt, math.MinInt, math.MaxInt, math.MinInt), civil(2000, 1, 1, 0, 0, math.MaxInt),
 	}
 }
 
@@ -60,7 +68,7 @@ func withCode[T any](v T, code int) []any { return []any{v, code} }
 
 func twoWithCode[T, U any](v T, w U, code int) []any { return []any{v, w, code} }
 
-// callsOfTexts is every call of chapters 1 to 4 that takes a text, and perhaps a number or another text, with every sample.
+// callsOfTexts is every call of chapters 1 to 5 that takes a text, and perhaps a number or another text, with every sample.
 func callsOfTexts() []call {
 	var list []call
 	for _, x := range sampleTexts() {
@@ -78,6 +86,8 @@ func callsOfTexts() []call {
 			call{"EncodeWords", true, func() []any { return withCode(impl.EncodeWords(x)) }},
 			call{"DecodeWords", true, func() []any { return withCode(impl.DecodeWords(x)) }},
 			call{"UnfoldHeader", true, func() []any { return twoWithCode(impl.UnfoldHeader(x)) }},
+			call{"ReadRfc3339", true, func() []any { return withCode(impl.ReadRfc3339(x)) }},
+			call{"ReadRfc822", true, func() []any { return withCode(impl.ReadRfc822(x)) }},
 		)
 		for _, y := range sampleTexts() {
 			list = append(list, call{"FoldHeader", true, func() []any { return withCode(impl.FoldHeader(x, y)) }})
@@ -96,6 +106,16 @@ func allCalls() []call {
 		list = append(list,
 			call{"CodeWord", false, func() []any { return oneAnswer(impl.CodeWord(n)) }},
 			call{"RuneSize", false, func() []any { return oneAnswer(impl.RuneSize(n)) }},
+			call{"CivilOf", true, func() []any { return withCode(impl.CivilOf(n)) }},
+			call{"WeekdayOf", true, func() []any { return withCode(impl.WeekdayOf(n)) }},
+			call{"Rfc3339Text", true, func() []any { return withCode(impl.Rfc3339Text(n)) }},
+			call{"Rfc822Text", true, func() []any { return withCode(impl.Rfc822Text(n)) }},
+		)
+	}
+	for _, c := range sampleCivils() {
+		list = append(list,
+			call{"CivilOK", false, func() []any { return oneAnswer(impl.CivilOK(c)) }},
+			call{"StampOf", true, func() []any { return withCode(impl.StampOf(c)) }},
 		)
 	}
 	for _, runes := range sampleLists() {
