@@ -19,6 +19,7 @@ func sampleTexts() []string {
 		"X-Id", "plain words", " a  b ", "=?utf-8?B?w6Q=?= =?utf-8?B?w6Q=?= b", "=?utf-8?B?w6Q?=", "Name: a\r\n b\r\n", "Name: \r\n", "Name:a\r\n",
 		strings.Repeat("w", 201), wordsOf(impl.MaxHeader, 60), wordsOf(impl.MaxHeader+1, 60), strings.Repeat("\u20ac", 333), strings.Repeat("\u20ac", 334),
 		"2020-01-02T03:04:05Z", "2020-01-02T03:04:05.5-01:30", "1970-01-01T00:00:00+00:01", "Thu, 02 Jan 2020 03:04:05 +0000", "2 Jan 2020 03:04:05 UT", "31 Dec 2099 23:59:59 -0001",
+		"<a b='1 &amp; 2' c=\"\">x<!-- y --><b/>\r<![CDATA[z]]></a>", "<a>", "<a/>&none;", "a&b<c>\"'\r", "&#x20ac;", strings.Repeat("<a>", 13), "<a b='' b=''/>", strings.Repeat("&", impl.MaxText/8), strings.Repeat("&", impl.MaxText/8+1),
 		"\xff", "\xc0\x80", "a\xe2\x82", "\xed\xa0\x80", "\xf4\x90\x80\x80", "\x80b\xff",
 		strings.Repeat("n", impl.MaxName), strings.Repeat("n", impl.MaxName+1),
 		strings.Repeat("\u20ac", impl.MaxList), fullText, strings.Repeat("\xff", impl.MaxText),
@@ -55,6 +56,14 @@ func sampleBytes() [][]byte {
 	}
 }
 
+func sampleTokens() [][]impl.Token {
+	pair := []impl.Token{start("b", "c", "v"), end("b")}
+	return [][]impl.Token{
+		nil, {}, {{}}, {start("a"), end("a")}, {end("a"), start("a")}, {start("a", "b", "<\r>", "c", ""), chars("x & \u20ac"), end("a")}, {start("a", "b", "", "b", ""), end("a")}, within(chars("x"), chars("y")), within(chars("\xff")), within(impl.Token{Kind: math.MinInt, Name: longText}),
+		within(slices.Repeat(pair, 299)...), within(slices.Repeat(pair, 300)...), slices.Repeat(pair, impl.MaxList/2), slices.Repeat(pair, impl.MaxList), within(chars(fullText)), {start(endlessText, endlessText, endlessText)},
+	}
+}
+
 // A call that is put to the program, and what it answers: the code, if it has one, is the last of all.
 type call struct {
 	name  string
@@ -68,7 +77,12 @@ func withCode[T any](v T, code int) []any { return []any{v, code} }
 
 func twoWithCode[T, U any](v T, w U, code int) []any { return []any{v, w, code} }
 
-// callsOfTexts is every call of chapters 1 to 5 that takes a text, and perhaps a number or another text, with every sample.
+// A place stands beside a code too.
+func tokensWithCode(list []impl.Token, _, code int) []any { return []any{list, code} }
+
+func placeAlone(_ []impl.Token, place, _ int) []any { return []any{place} }
+
+// callsOfTexts is every call of chapters 1 to 6 that takes a text, and perhaps a number or another text, with every sample.
 func callsOfTexts() []call {
 	var list []call
 	for _, x := range sampleTexts() {
@@ -88,6 +102,11 @@ func callsOfTexts() []call {
 			call{"UnfoldHeader", true, func() []any { return twoWithCode(impl.UnfoldHeader(x)) }},
 			call{"ReadRfc3339", true, func() []any { return withCode(impl.ReadRfc3339(x)) }},
 			call{"ReadRfc822", true, func() []any { return withCode(impl.ReadRfc822(x)) }},
+			call{"XmlNameOK", false, func() []any { return oneAnswer(impl.XmlNameOK(x)) }},
+			call{"EscapeXml", true, func() []any { return withCode(impl.EscapeXml(x)) }},
+			call{"XmlTokens", true, func() []any { return tokensWithCode(impl.XmlTokens(x)) }},
+			call{"XmlTokens, the place", false, func() []any { return placeAlone(impl.XmlTokens(x)) }},
+			call{"AttrOf", true, func() []any { return withCode(impl.AttrOf(start("a", "", "none", "a", x, x, "b"), x)) }},
 		)
 		for _, y := range sampleTexts() {
 			list = append(list, call{"FoldHeader", true, func() []any { return withCode(impl.FoldHeader(x, y)) }})
@@ -106,6 +125,7 @@ func allCalls() []call {
 		list = append(list,
 			call{"CodeWord", false, func() []any { return oneAnswer(impl.CodeWord(n)) }},
 			call{"RuneSize", false, func() []any { return oneAnswer(impl.RuneSize(n)) }},
+			call{"XmlRune", false, func() []any { return oneAnswer(impl.XmlRune(n)) }},
 			call{"CivilOf", true, func() []any { return withCode(impl.CivilOf(n)) }},
 			call{"WeekdayOf", true, func() []any { return withCode(impl.WeekdayOf(n)) }},
 			call{"Rfc3339Text", true, func() []any { return withCode(impl.Rfc3339Text(n)) }},
@@ -117,6 +137,12 @@ func allCalls() []call {
 			call{"CivilOK", false, func() []any { return oneAnswer(impl.CivilOK(c)) }},
 			call{"StampOf", true, func() []any { return withCode(impl.StampOf(c)) }},
 		)
+	}
+	for _, tokens := range sampleTokens() {
+		list = append(list, call{"TokensText", true, func() []any { return withCode(impl.TokensText(tokens)) }})
+		for _, x := range tokens[:min(len(tokens), 3)] {
+			list = append(list, call{"AttrOf", true, func() []any { return withCode(impl.AttrOf(x, "b")) }})
+		}
 	}
 	for _, runes := range sampleLists() {
 		list = append(list, call{"TextOfRunes", true, func() []any { return withCode(impl.TextOfRunes(runes)) }})
@@ -376,6 +402,86 @@ func TestFieldsAreNewMemory(t *testing.T) {
 				t.Errorf("%s: %q is empty, or shares memory with %q", answer, texts[0], x)
 			}
 		}
+	}
+}
+
+// copied is a list of tokens that shares no list with another one.
+func copied(list []impl.Token) []impl.Token {
+	list = slices.Clone(list)
+	for i := range list {
+		list[i].Attrs = slices.Clone(list[i].Attrs)
+	}
+	return list
+}
+
+func TestTokensStay(t *testing.T) {
+	behind := impl.Attr{Name: "behind", Value: "behind"}
+	for _, list := range sampleTokens() {
+		room := append(copied(list), chars("behind"))
+		for i := range room {
+			room[i].Attrs = append(room[i].Attrs, behind)
+		}
+		before := copied(room)
+		asked := room[:len(list)]
+		for i := range asked {
+			asked[i].Attrs = asked[i].Attrs[:len(list[i].Attrs)]
+		}
+		impl.TokensText(asked)
+		for _, x := range asked {
+			impl.AttrOf(x, "b")
+		}
+		for i := range asked {
+			asked[i].Attrs = asked[i].Attrs[:len(list[i].Attrs)+1]
+		}
+		if !sameTokens(room, before) {
+			t.Errorf("something was written into a list of %d, or behind it", len(list))
+		}
+	}
+}
+
+func TestTokensAreNewMemory(t *testing.T) {
+	for _, x := range []string{
+		"<a b='1' c=\"2\">x<b d='3'/><![CDATA[y]]>z</a>", "<a><![CDATA[plain words]]></a>", "<a><![CDATA[one]]><b/>\r<![CDATA[two]]></a>", "<" + strings.Repeat("n", 40) + " b='" + strings.Repeat("v", 100) + "'/>",
+	} {
+		x = strings.Clone(x)
+		first, _, _ := impl.XmlTokens(x)
+		second, _, _ := impl.XmlTokens(x)
+		want := copied(second)
+		text, _ := impl.TokensText(first)
+		pieces := []string{text}
+		for _, y := range first {
+			pieces = append(pieces, y.Name, y.Text)
+			for _, a := range y.Attrs {
+				value, _ := impl.AttrOf(y, a.Name)
+				if shareMemory(a.Value, value) {
+					t.Errorf("AttrOf of %q shares memory with its token", x)
+				}
+				pieces = append(pieces, a.Name, a.Value)
+			}
+		}
+		for _, piece := range pieces {
+			if shareMemory(x, piece) {
+				t.Errorf("%q shares memory with %q", piece, x)
+			}
+		}
+		for i := range first {
+			_ = append(first[i].Attrs, impl.Attr{Name: "other"})
+			clear(first[i].Attrs)
+			clear(first[i].Attrs[:cap(first[i].Attrs)])
+			for j := range first[i+1:] {
+				if !sameTokens(first[i+1+j:i+2+j], want[i+1+j:i+2+j]) {
+					t.Errorf("lists of one answer share memory: %q", x)
+				}
+			}
+		}
+		clear(first)
+		if again, _, _ := impl.XmlTokens(x); !sameTokens(second, want) || !sameTokens(again, want) {
+			t.Errorf("answers of XmlTokens share memory: %q", x)
+		}
+	}
+	escaped := strings.Clone("plain words")
+	if s, _ := impl.EscapeXml(escaped); s != escaped || shareMemory(s, escaped) {
+		t.Errorf("EscapeXml of %q shares memory with it, or is %q", escaped, s)
 	}
 }
 
