@@ -20,8 +20,9 @@ func sampleTexts() []string {
 		strings.Repeat("w", 201), wordsOf(impl.MaxHeader, 60), wordsOf(impl.MaxHeader+1, 60), strings.Repeat("\u20ac", 333), strings.Repeat("\u20ac", 334),
 		"2020-01-02T03:04:05Z", "2020-01-02T03:04:05.5-01:30", "1970-01-01T00:00:00+00:01", "Thu, 02 Jan 2020 03:04:05 +0000", "2 Jan 2020 03:04:05 UT", "31 Dec 2099 23:59:59 -0001",
 		"<a b='1 &amp; 2' c=\"\">x<!-- y --><b/>\r<![CDATA[z]]></a>", "<a>", "<a/>&none;", "a&b<c>\"'\r", "&#x20ac;", strings.Repeat("<a>", 13), "<a b='' b=''/>", strings.Repeat("&", impl.MaxText/8), strings.Repeat("&", impl.MaxText/8+1),
+		"<rss version='2.0'><channel><title>t</title><item><guid>i</guid><title> a\n b</title></item></channel></rss>", "<feed><entry><link href='l'/><author><name>n</name></author><updated>2020-01-02T03:04:05Z</updated><content> c\r</content></entry></feed>", "<feed><entry/></feed>", "<rss/>", "<feed><title>" + longLine + "</title></feed>",
 		"\xff", "\xc0\x80", "a\xe2\x82", "\xed\xa0\x80", "\xf4\x90\x80\x80", "\x80b\xff",
-		strings.Repeat("n", impl.MaxName), strings.Repeat("n", impl.MaxName+1),
+		strings.Repeat("n", impl.MaxName), strings.Repeat("n", impl.MaxName+1), lineBytes(impl.MaxField), longLine,
 		strings.Repeat("\u20ac", impl.MaxList), fullText, strings.Repeat("\xff", impl.MaxText),
 		longText, fullText + "\xff", endlessText,
 	}
@@ -64,6 +65,19 @@ func sampleTokens() [][]impl.Token {
 	}
 }
 
+func sampleFeeds() []impl.Feed {
+	list := []impl.Feed{{}, {Atom: true, Entries: []impl.Entry{}}, {Title: "two\nlines"}, {Title: longLine}, {Title: endlessText}}
+	for _, atom := range []bool{false, true} {
+		list = append(list,
+			impl.Feed{Atom: atom, Title: "t", Entries: []impl.Entry{plainEntry, {Id: "i"}, plainEntry}},
+			impl.Feed{Atom: atom, Entries: slices.Repeat([]impl.Entry{plainEntry}, impl.MaxEntries)}, impl.Feed{Atom: atom, Entries: slices.Repeat([]impl.Entry{plainEntry}, impl.MaxEntries+1)}, impl.Feed{Atom: atom, Entries: make([]impl.Entry, 2*impl.MaxList)},
+			feedOfBytes(atom, impl.MaxText), feedOfBytes(atom, impl.MaxText+1),
+			impl.Feed{Atom: atom, Entries: []impl.Entry{{Id: "i", Date: math.MinInt}}}, impl.Feed{Atom: atom, Entries: []impl.Entry{{Id: "i", Title: "\xff", Link: longText, Author: "\x00", Date: math.MaxInt, Content: endlessText}}},
+		)
+	}
+	return list
+}
+
 // A call that is put to the program, and what it answers: the code, if it has one, is the last of all.
 type call struct {
 	name  string
@@ -82,7 +96,7 @@ func tokensWithCode(list []impl.Token, _, code int) []any { return []any{list, c
 
 func placeAlone(_ []impl.Token, place, _ int) []any { return []any{place} }
 
-// callsOfTexts is every call of chapters 1 to 6 that takes a text, and perhaps a number or another text, with every sample.
+// callsOfTexts is every call of chapters 1 to 7 that takes a text, and perhaps a number or another text, with every sample.
 func callsOfTexts() []call {
 	var list []call
 	for _, x := range sampleTexts() {
@@ -107,6 +121,10 @@ func callsOfTexts() []call {
 			call{"XmlTokens", true, func() []any { return tokensWithCode(impl.XmlTokens(x)) }},
 			call{"XmlTokens, the place", false, func() []any { return placeAlone(impl.XmlTokens(x)) }},
 			call{"AttrOf", true, func() []any { return withCode(impl.AttrOf(start("a", "", "none", "a", x, x, "b"), x)) }},
+			call{"OneLine", true, func() []any { return withCode(impl.OneLine(x)) }},
+			call{"ReadFeed", true, func() []any { return withCode(impl.ReadFeed(x)) }},
+			call{"EntryOK", false, func() []any { return oneAnswer(impl.EntryOK(impl.Entry{Id: x, Content: x})) }},
+			call{"FeedOK", false, func() []any { return oneAnswer(impl.FeedOK(impl.Feed{Title: x})) }},
 		)
 		for _, y := range sampleTexts() {
 			list = append(list, call{"FoldHeader", true, func() []any { return withCode(impl.FoldHeader(x, y)) }})
@@ -142,6 +160,16 @@ func allCalls() []call {
 		list = append(list, call{"TokensText", true, func() []any { return withCode(impl.TokensText(tokens)) }})
 		for _, x := range tokens[:min(len(tokens), 3)] {
 			list = append(list, call{"AttrOf", true, func() []any { return withCode(impl.AttrOf(x, "b")) }})
+		}
+	}
+	for _, f := range sampleFeeds() {
+		list = append(list,
+			call{"FeedOK", false, func() []any { return oneAnswer(impl.FeedOK(f)) }},
+			call{"FeedKeys", true, func() []any { return withCode(impl.FeedKeys(f)) }},
+			call{"FeedText", true, func() []any { return withCode(impl.FeedText(f)) }},
+		)
+		for _, e := range f.Entries[:min(len(f.Entries), 3)] {
+			list = append(list, call{"EntryOK", false, func() []any { return oneAnswer(impl.EntryOK(e)) }})
 		}
 	}
 	for _, runes := range sampleLists() {
@@ -322,6 +350,11 @@ func TestListsStay(t *testing.T) {
 		checkStays(t, "Base64Text", b, func(b []byte) { impl.Base64Text(b) })
 		checkStays(t, "QuotedText", b, func(b []byte) { impl.QuotedText(b) })
 	}
+	for _, f := range sampleFeeds() {
+		for name, ask := range map[string]func(impl.Feed){"FeedOK": func(f impl.Feed) { impl.FeedOK(f) }, "FeedKeys": func(f impl.Feed) { impl.FeedKeys(f) }, "FeedText": func(f impl.Feed) { impl.FeedText(f) }} {
+			checkStays(t, name, f.Entries, func(list []impl.Entry) { ask(impl.Feed{Atom: f.Atom, Title: f.Title, Entries: list}) })
+		}
+	}
 }
 
 func TestAnswersAreNewMemory(t *testing.T) {
@@ -482,6 +515,58 @@ func TestTokensAreNewMemory(t *testing.T) {
 	escaped := strings.Clone("plain words")
 	if s, _ := impl.EscapeXml(escaped); s != escaped || shareMemory(s, escaped) {
 		t.Errorf("EscapeXml of %q shares memory with it, or is %q", escaped, s)
+	}
+}
+
+// textsOf is each text of a feed.
+func textsOf(f impl.Feed) []string {
+	list := []string{f.Title}
+	for _, e := range f.Entries {
+		list = append(list, e.Id, e.Title, e.Link, e.Author, e.Content)
+	}
+	return list
+}
+
+func checkNew(t *testing.T, name string, answers, arguments []string) {
+	t.Helper()
+	for _, answer := range answers {
+		for _, x := range arguments {
+			if shareMemory(answer, x) {
+				t.Errorf("%s: %q shares memory with %q", name, brief(answer), brief(x))
+			}
+		}
+	}
+}
+
+func TestFeedsAreNewMemory(t *testing.T) {
+	for _, x := range []string{"a", "plain words", "a  b", " a ", strings.Repeat("word ", 100)} {
+		x = strings.Clone(x)
+		line, _ := impl.OneLine(x)
+		checkNew(t, "OneLine", []string{line}, []string{x})
+	}
+	for _, atom := range []bool{false, true} {
+		e := impl.Entry{Id: strings.Clone("an id"), Title: strings.Clone("a title"), Link: strings.Clone("a link"), Author: strings.Clone("an author"), Content: strings.Clone("a content")}
+		f := impl.Feed{Atom: atom, Title: strings.Clone("title"), Entries: []impl.Entry{e, {Id: strings.Clone("other")}}}
+		text, _ := impl.FeedText(f)
+		keys, _ := impl.FeedKeys(f)
+		checkNew(t, "FeedText", []string{text}, textsOf(f))
+		checkNew(t, "FeedKeys", keys, textsOf(f))
+		clear(keys)
+		_ = append(keys, "another")
+		if again, code := impl.FeedKeys(f); !slices.Equal(again, []string{"an id", "other"}) || code != impl.OK {
+			t.Errorf("answers of FeedKeys share memory: %q, %d", again, code)
+		}
+		plain := strings.NewReplacer("<content>", "<content><![CDATA[", "</content>", "]]></content>", "<description>", "<description><![CDATA[", "</description>", "]]></description>").Replace(text)
+		for _, text := range []string{text, plain} {
+			first, _ := impl.ReadFeed(text)
+			second, _ := impl.ReadFeed(text)
+			checkNew(t, "ReadFeed", textsOf(first), []string{text})
+			clear(first.Entries)
+			_ = append(first.Entries, plainEntry)
+			if again, code := impl.ReadFeed(text); !sameFeed(second, f) || !sameFeed(again, f) || code != impl.OK {
+				t.Errorf("answers of ReadFeed share memory: %s, %s, %d", told(second), told(again), code)
+			}
+		}
 	}
 }
 
