@@ -21,6 +21,7 @@ func sampleTexts() []string {
 		"2020-01-02T03:04:05Z", "2020-01-02T03:04:05.5-01:30", "1970-01-01T00:00:00+00:01", "Thu, 02 Jan 2020 03:04:05 +0000", "2 Jan 2020 03:04:05 UT", "31 Dec 2099 23:59:59 -0001",
 		"<a b='1 &amp; 2' c=\"\">x<!-- y --><b/>\r<![CDATA[z]]></a>", "<a>", "<a/>&none;", "a&b<c>\"'\r", "&#x20ac;", strings.Repeat("<a>", 13), "<a b='' b=''/>", strings.Repeat("&", impl.MaxText/8), strings.Repeat("&", impl.MaxText/8+1),
 		"<rss version='2.0'><channel><title>t</title><item><guid>i</guid><title> a\n b</title></item></channel></rss>", "<feed><entry><link href='l'/><author><name>n</name></author><updated>2020-01-02T03:04:05Z</updated><content> c\r</content></entry></feed>", "<feed><entry/></feed>", "<rss/>", "<feed><title>" + longLine + "</title></feed>",
+		"X: y\r\n z\r\n\r\na\r\n", "X: y\r\n", "X: \u00e4\r\n\r\n", "\r\n", strings.Join(rightFields(), "") + "\r\ne =3D\r\n", strings.Join(rightFields(), "") + "\r\n=\r\n", manyFields(40) + "\r\n\r\n", manyFields(41) + "\r\n\r\n", mailOfBytes(impl.MaxText), mailOfBytes(impl.MaxText + 1), "TEXT", "HEADER",
 		"\xff", "\xc0\x80", "a\xe2\x82", "\xed\xa0\x80", "\xf4\x90\x80\x80", "\x80b\xff",
 		strings.Repeat("n", impl.MaxName), strings.Repeat("n", impl.MaxName+1), lineBytes(impl.MaxField), longLine,
 		strings.Repeat("\u20ac", impl.MaxList), fullText, strings.Repeat("\xff", impl.MaxText),
@@ -78,6 +79,14 @@ func sampleFeeds() []impl.Feed {
 	return list
 }
 
+func sampleMails() []impl.Mail {
+	field := impl.Field{Name: "Subject", Value: "a"}
+	return []impl.Mail{
+		{}, {Fields: []impl.Field{}, Body: longText}, {Fields: []impl.Field{field, {Name: "SUBJECT", Value: "b"}}}, {Fields: []impl.Field{{}, {Name: "\xff", Value: "\x00"}}, Body: "\r\n"}, {Fields: []impl.Field{{Name: longText, Value: endlessText}, {Name: "a", Value: longText}}, Body: endlessText},
+		{Fields: slices.Repeat([]impl.Field{field}, 40)}, {Fields: slices.Repeat([]impl.Field{field}, 41)}, {Fields: slices.Repeat([]impl.Field{field}, 2*impl.MaxList)},
+	}
+}
+
 // A call that is put to the program, and what it answers: the code, if it has one, is the last of all.
 type call struct {
 	name  string
@@ -96,7 +105,7 @@ func tokensWithCode(list []impl.Token, _, code int) []any { return []any{list, c
 
 func placeAlone(_ []impl.Token, place, _ int) []any { return []any{place} }
 
-// callsOfTexts is every call of chapters 1 to 7 that takes a text, and perhaps a number or another text, with every sample.
+// callsOfTexts is every call of chapters 1 to 8 that takes a text, and perhaps a number or another text, with every sample.
 func callsOfTexts() []call {
 	var list []call
 	for _, x := range sampleTexts() {
@@ -125,7 +134,20 @@ func callsOfTexts() []call {
 			call{"ReadFeed", true, func() []any { return withCode(impl.ReadFeed(x)) }},
 			call{"EntryOK", false, func() []any { return oneAnswer(impl.EntryOK(impl.Entry{Id: x, Content: x})) }},
 			call{"FeedOK", false, func() []any { return oneAnswer(impl.FeedOK(impl.Feed{Title: x})) }},
+			call{"MailOK", false, func() []any { return oneAnswer(impl.MailOK(x)) }},
+			call{"RenderEntry", true, func() []any { return withCode(impl.RenderEntry(plainEntry, x)) }},
+			call{"RenderEntry", true, func() []any { return withCode(impl.RenderEntry(impl.Entry{Id: x, Content: x}, "b")) }},
+			call{"ParseMail", true, func() []any { return withCode(impl.ParseMail(x)) }},
+			call{"MailEntry", true, func() []any { return withCode(impl.MailEntry(x)) }},
+			call{"MailPart", true, func() []any { return withCode(impl.MailPart("X: y\r\n\r\na\r\n", x)) }},
+			call{"MailLines", true, func() []any { return withCode(impl.MailLines(x)) }},
 		)
+		for _, part := range []string{"", "HEADER", "TEXT", "text", longText} {
+			list = append(list, call{"MailPart", true, func() []any { return withCode(impl.MailPart(x, part)) }})
+		}
+		for _, m := range sampleMails() {
+			list = append(list, call{"FieldOf", true, func() []any { return withCode(impl.FieldOf(m, x)) }})
+		}
 		for _, y := range sampleTexts() {
 			list = append(list, call{"FoldHeader", true, func() []any { return withCode(impl.FoldHeader(x, y)) }})
 		}
@@ -169,7 +191,10 @@ func allCalls() []call {
 			call{"FeedText", true, func() []any { return withCode(impl.FeedText(f)) }},
 		)
 		for _, e := range f.Entries[:min(len(f.Entries), 3)] {
-			list = append(list, call{"EntryOK", false, func() []any { return oneAnswer(impl.EntryOK(e)) }})
+			list = append(list,
+				call{"EntryOK", false, func() []any { return oneAnswer(impl.EntryOK(e)) }},
+				call{"RenderEntry", true, func() []any { return withCode(impl.RenderEntry(e, "news")) }},
+			)
 		}
 	}
 	for _, runes := range sampleLists() {
@@ -179,6 +204,7 @@ func allCalls() []call {
 		list = append(list,
 			call{"Base64Text", true, func() []any { return withCode(impl.Base64Text(b)) }},
 			call{"QuotedText", true, func() []any { return withCode(impl.QuotedText(b)) }},
+			call{"Check32", false, func() []any { return oneAnswer(impl.Check32(b)) }},
 		)
 	}
 	return list
@@ -349,6 +375,12 @@ func TestListsStay(t *testing.T) {
 	for _, b := range sampleBytes() {
 		checkStays(t, "Base64Text", b, func(b []byte) { impl.Base64Text(b) })
 		checkStays(t, "QuotedText", b, func(b []byte) { impl.QuotedText(b) })
+		checkStays(t, "Check32", b, func(b []byte) { impl.Check32(b) })
+	}
+	for _, m := range sampleMails() {
+		for _, name := range []string{"", "subject", "A", longText} {
+			checkStays(t, "FieldOf", m.Fields, func(list []impl.Field) { impl.FieldOf(impl.Mail{Fields: list, Body: m.Body}, name) })
+		}
 	}
 	for _, f := range sampleFeeds() {
 		for name, ask := range map[string]func(impl.Feed){"FeedOK": func(f impl.Feed) { impl.FeedOK(f) }, "FeedKeys": func(f impl.Feed) { impl.FeedKeys(f) }, "FeedText": func(f impl.Feed) { impl.FeedText(f) }} {
@@ -567,6 +599,33 @@ func TestFeedsAreNewMemory(t *testing.T) {
 				t.Errorf("answers of ReadFeed share memory: %s, %s, %d", told(second), told(again), code)
 			}
 		}
+	}
+}
+
+func TestMailsAreNewMemory(t *testing.T) {
+	e := impl.Entry{Id: strings.Clone("an id"), Title: strings.Clone("a title"), Link: strings.Clone("a link"), Author: strings.Clone("\u00e4"), Content: strings.Clone("a content")}
+	box := strings.Clone("news")
+	text, _ := impl.RenderEntry(e, box)
+	checkNew(t, "RenderEntry", []string{text}, append(textsOf(impl.Feed{Entries: []impl.Entry{e}}), box))
+	back, _ := impl.MailEntry(text)
+	checkNew(t, "MailEntry", textsOf(impl.Feed{Entries: []impl.Entry{back}}), []string{text})
+	for _, part := range []string{"", "HEADER", "TEXT"} {
+		x, _ := impl.MailPart(text, part)
+		checkNew(t, "MailPart", []string{x}, []string{text})
+	}
+	first, _ := impl.ParseMail(text)
+	second, _ := impl.ParseMail(text)
+	answers := []string{first.Body}
+	for _, f := range first.Fields {
+		value, _ := impl.FieldOf(first, f.Name)
+		checkNew(t, "FieldOf", []string{value}, []string{f.Value})
+		answers = append(answers, f.Name, f.Value)
+	}
+	checkNew(t, "ParseMail", answers, []string{text})
+	clear(first.Fields)
+	_ = append(first.Fields, impl.Field{Name: "other"})
+	if want, _ := mailOf(text); !sameMail(second, want) {
+		t.Errorf("answers of ParseMail share memory: %s", told(second))
 	}
 }
 
