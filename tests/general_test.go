@@ -87,6 +87,16 @@ func sampleMails() []impl.Mail {
 	}
 }
 
+func sampleLogs() []impl.Log {
+	data := allWritten("a", "\x00\xff", "record")
+	longest := allWritten(string(madeBytes(impl.MaxRecord, 1)), string(madeBytes(impl.MaxRecord, 2)))
+	return []impl.Log{
+		{}, {Room: 1}, {Room: 7}, {Room: 8}, {Room: impl.MaxRoom}, {Room: impl.MaxRoom + 1}, {Room: -1}, {Room: math.MinInt, Data: endlessText, Sure: math.MaxInt}, {Room: math.MaxInt, Data: longText, Sure: math.MinInt},
+		{Room: len(data), Data: data}, {Room: 1000, Data: data, Sure: 8}, {Room: 1000, Data: data, Sure: 20}, {Room: 1000, Data: data, Sure: len(data)}, {Room: 1000, Data: data, Sure: len(data) + 1}, {Room: len(data) - 1, Data: data}, {Room: 1000, Data: data, Sure: -1}, {Room: 1000, Data: data[:len(data)-1]}, {Room: 1000, Data: data[:20], Sure: 9}, {Room: 1000, Data: "\xff" + data}, {Room: 1000, Data: data[:len(data)-1] + "x", Sure: 17}, {Room: 100, Data: data + strings.Repeat("\x00", 7)},
+		{Room: impl.MaxRoom, Data: longest, Sure: 1}, {Room: impl.MaxRoom, Data: longest[:30000], Sure: 30000}, {Room: impl.MaxRoom, Data: strings.Repeat("\xff", impl.MaxRoom)}, {Room: impl.MaxRoom, Data: strings.Repeat(written("a"), impl.MaxRoom/8), Sure: impl.MaxRoom},
+	}
+}
+
 // A call that is put to the program, and what it answers: the code, if it has one, is the last of all.
 type call struct {
 	name  string
@@ -105,7 +115,27 @@ func tokensWithCode(list []impl.Token, _, code int) []any { return []any{list, c
 
 func placeAlone(_ []impl.Token, place, _ int) []any { return []any{place} }
 
-// callsOfTexts is every call of chapters 1 to 8 that takes a text, and perhaps a number or another text, with every sample.
+// A log, or records, stand beside some codes of the calls of logs that are not told to be coded.
+func callsOfLogs() []call {
+	var list []call
+	for _, l := range sampleLogs() {
+		list = append(list,
+			call{"LogOK", false, func() []any { return oneAnswer(impl.LogOK(l)) }},
+			call{"LogSync", true, func() []any { return withCode(impl.LogSync(l)) }},
+			call{"LogRecords", false, func() []any { return twoWithCode(impl.LogRecords(l)) }},
+			call{"LogRepair", false, func() []any { return withCode(impl.LogRepair(l)) }},
+		)
+		for _, n := range sampleNumbers() {
+			list = append(list, call{"LogCrash", true, func() []any { return withCode(impl.LogCrash(l, n)) }})
+		}
+		for _, x := range []string{"", "a", "\x00\xff", fullText[:impl.MaxRecord], fullText[:impl.MaxRecord+1], fullText, longText} {
+			list = append(list, call{"LogAppend", false, func() []any { return withCode(impl.LogAppend(l, x)) }})
+		}
+	}
+	return list
+}
+
+// callsOfTexts is every call of chapters 1 to 9 that takes a text, and perhaps a number or another text, with every sample.
 func callsOfTexts() []call {
 	var list []call
 	for _, x := range sampleTexts() {
@@ -141,6 +171,8 @@ func callsOfTexts() []call {
 			call{"MailEntry", true, func() []any { return withCode(impl.MailEntry(x)) }},
 			call{"MailPart", true, func() []any { return withCode(impl.MailPart("X: y\r\n\r\na\r\n", x)) }},
 			call{"MailLines", true, func() []any { return withCode(impl.MailLines(x)) }},
+			call{"LogAppend", false, func() []any { return withCode(impl.LogAppend(impl.Log{Room: impl.MaxRoom, Data: "a"}, x)) }},
+			call{"LogRecords", false, func() []any { return twoWithCode(impl.LogRecords(impl.Log{Room: impl.MaxRoom, Data: x})) }},
 		)
 		for _, part := range []string{"", "HEADER", "TEXT", "text", longText} {
 			list = append(list, call{"MailPart", true, func() []any { return withCode(impl.MailPart(x, part)) }})
@@ -160,7 +192,7 @@ func callsOfTexts() []call {
 
 // allCalls is every call of the chapters that are built, with every sample.
 func allCalls() []call {
-	list := callsOfTexts()
+	list := append(callsOfTexts(), callsOfLogs()...)
 	for _, n := range sampleNumbers() {
 		list = append(list,
 			call{"CodeWord", false, func() []any { return oneAnswer(impl.CodeWord(n)) }},
@@ -170,6 +202,7 @@ func allCalls() []call {
 			call{"WeekdayOf", true, func() []any { return withCode(impl.WeekdayOf(n)) }},
 			call{"Rfc3339Text", true, func() []any { return withCode(impl.Rfc3339Text(n)) }},
 			call{"Rfc822Text", true, func() []any { return withCode(impl.Rfc822Text(n)) }},
+			call{"NewLog", true, func() []any { return withCode(impl.NewLog(n)) }},
 		)
 	}
 	for _, c := range sampleCivils() {
@@ -626,6 +659,34 @@ func TestMailsAreNewMemory(t *testing.T) {
 	_ = append(first.Fields, impl.Field{Name: "other"})
 	if want, _ := mailOf(text); !sameMail(second, want) {
 		t.Errorf("answers of ParseMail share memory: %s", told(second))
+	}
+}
+
+func TestLogsAreNewMemory(t *testing.T) {
+	for _, l := range sampleLogs() {
+		l.Data = strings.Clone(l.Data)
+		for _, x := range []string{"", "a", strings.Repeat("r", 100), fullText} {
+			x = strings.Clone(x)
+			got, _ := impl.LogAppend(l, x)
+			checkNew(t, "LogAppend", []string{got.Data}, []string{l.Data, x})
+		}
+		synced, _ := impl.LogSync(l)
+		repaired, _ := impl.LogRepair(l)
+		checkNew(t, "LogSync", []string{synced.Data}, []string{l.Data})
+		checkNew(t, "LogRepair", []string{repaired.Data}, []string{l.Data})
+		for _, keep := range []int{-1, 0, 5, math.MaxInt} {
+			crashed, _ := impl.LogCrash(l, keep)
+			checkNew(t, "LogCrash", []string{crashed.Data}, []string{l.Data})
+		}
+		first, _, _ := impl.LogRecords(l)
+		second, _, _ := impl.LogRecords(l)
+		checkNew(t, "LogRecords", first, []string{l.Data})
+		want := slices.Clone(second)
+		clear(first)
+		_ = append(first, "another")
+		if again, _, _ := impl.LogRecords(l); !slices.Equal(second, want) || !slices.Equal(again, want) {
+			t.Errorf("answers of LogRecords share memory: %s", told(l))
+		}
 	}
 }
 
