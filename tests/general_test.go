@@ -97,6 +97,19 @@ func sampleLogs() []impl.Log {
 	}
 }
 
+func sampleStores() [][]impl.Box {
+	wrong := plainBox("a", 1)
+	wrong.Keys[0] = wrong.Keys[1]
+	return append(someStores(),
+		[]impl.Box{wrong}, []impl.Box{{}}, []impl.Box{plainBox("a", 2)}, []impl.Box{plainBox("a", 1), plainBox("a", 2)}, []impl.Box{boxOf("a", 1, 61)}, []impl.Box{{Name: endlessText, Valid: math.MaxInt, Next: math.MinInt, Mails: []impl.Stored{{Uid: math.MinInt, Flags: math.MaxInt, Text: endlessText}}, Keys: []string{endlessText, longText}}},
+		make([]impl.Box, impl.MaxBoxes+1), make([]impl.Box, impl.MaxList), make([]impl.Box, impl.MaxList+1),
+	)
+}
+
+func sampleMutations() []impl.Mutation {
+	return append(someMutations("first"), added("none", "k"), flagged("full", 30, impl.MoAdd, 8), expunged("full"), added("full", "k"), added("spent", "k"), mutationOfBytes(impl.MaxRecord), mutationOfBytes(impl.MaxRecord+1), impl.Mutation{Kind: math.MinInt, Uid: math.MaxInt, Mode: math.MinInt, Flags: math.MaxInt, Box: endlessText, Items: make([]impl.Item, 2*impl.MaxList)})
+}
+
 // A call that is put to the program, and what it answers: the code, if it has one, is the last of all.
 type call struct {
 	name  string
@@ -135,7 +148,41 @@ func callsOfLogs() []call {
 	return list
 }
 
-// callsOfTexts is every call of chapters 1 to 9 that takes a text, and perhaps a number or another text, with every sample.
+// Boxes stand beside most codes of ApplyMutation.
+func callsOfBoxes() []call {
+	var list []call
+	for _, boxes := range sampleStores() {
+		list = append(list, call{"StoreOK", false, func() []any { return oneAnswer(impl.StoreOK(boxes)) }})
+		for _, b := range boxes[:min(len(boxes), 3)] {
+			list = append(list, call{"BoxOK", false, func() []any { return oneAnswer(impl.BoxOK(b)) }})
+			for _, n := range append(sampleNumbers(), 3, 4, 31, 32, 60) {
+				list = append(list,
+					call{"StoredAt", true, func() []any { return withCode(impl.StoredAt(b, n)) }},
+					call{"CountFlag", true, func() []any { return withCode(impl.CountFlag(b, n)) }},
+				)
+			}
+		}
+		for _, m := range sampleMutations() {
+			list = append(list, call{"ApplyMutation", false, func() []any { return withCode(impl.ApplyMutation(boxes, m)) }})
+		}
+		for _, name := range []string{"", "first", "full", "none", fullText, longText} {
+			list = append(list, call{"BoxAt", true, func() []any { return withCode(impl.BoxAt(boxes, name)) }})
+		}
+		for _, other := range sampleStores() {
+			list = append(list, call{"SameStore", true, func() []any { return withCode(impl.SameStore(boxes, other)) }})
+		}
+	}
+	for _, m := range sampleMutations() {
+		list = append(list,
+			call{"MutationOK", false, func() []any { return oneAnswer(impl.MutationOK(m)) }},
+			call{"MutationBytes", true, func() []any { return withCode(impl.MutationBytes(m)) }},
+			call{"ReadMutation", true, func() []any { return withCode(impl.ReadMutation(writtenMutation(m))) }},
+		)
+	}
+	return list
+}
+
+// callsOfTexts is every call of chapters 1 to 10 that takes a text, and perhaps a number or another text, with every sample.
 func callsOfTexts() []call {
 	var list []call
 	for _, x := range sampleTexts() {
@@ -173,6 +220,12 @@ func callsOfTexts() []call {
 			call{"MailLines", true, func() []any { return withCode(impl.MailLines(x)) }},
 			call{"LogAppend", false, func() []any { return withCode(impl.LogAppend(impl.Log{Room: impl.MaxRoom, Data: "a"}, x)) }},
 			call{"LogRecords", false, func() []any { return twoWithCode(impl.LogRecords(impl.Log{Room: impl.MaxRoom, Data: x})) }},
+			call{"BoxAt", true, func() []any { return withCode(impl.BoxAt([]impl.Box{plainBox("a", 1)}, x)) }},
+			call{"BoxOK", false, func() []any { return oneAnswer(impl.BoxOK(impl.Box{Name: x, Valid: 1, Next: 1})) }},
+			call{"MutationOK", false, func() []any { return oneAnswer(impl.MutationOK(impl.Mutation{Kind: impl.MuBox, Box: x})) }},
+			call{"ApplyMutation", false, func() []any {
+				return withCode(impl.ApplyMutation([]impl.Box{plainBox("a", 1)}, impl.Mutation{Kind: impl.MuAdd, Box: "a", Items: []impl.Item{{Key: x, Text: x}}}))
+			}},
 		)
 		for _, part := range []string{"", "HEADER", "TEXT", "text", longText} {
 			list = append(list, call{"MailPart", true, func() []any { return withCode(impl.MailPart(x, part)) }})
@@ -192,7 +245,7 @@ func callsOfTexts() []call {
 
 // allCalls is every call of the chapters that are built, with every sample.
 func allCalls() []call {
-	list := append(callsOfTexts(), callsOfLogs()...)
+	list := slices.Concat(callsOfTexts(), callsOfLogs(), callsOfBoxes())
 	for _, n := range sampleNumbers() {
 		list = append(list,
 			call{"CodeWord", false, func() []any { return oneAnswer(impl.CodeWord(n)) }},
@@ -238,6 +291,7 @@ func allCalls() []call {
 			call{"Base64Text", true, func() []any { return withCode(impl.Base64Text(b)) }},
 			call{"QuotedText", true, func() []any { return withCode(impl.QuotedText(b)) }},
 			call{"Check32", false, func() []any { return oneAnswer(impl.Check32(b)) }},
+			call{"ReadMutation", true, func() []any { return withCode(impl.ReadMutation(b)) }},
 		)
 	}
 	return list
@@ -409,6 +463,7 @@ func TestListsStay(t *testing.T) {
 		checkStays(t, "Base64Text", b, func(b []byte) { impl.Base64Text(b) })
 		checkStays(t, "QuotedText", b, func(b []byte) { impl.QuotedText(b) })
 		checkStays(t, "Check32", b, func(b []byte) { impl.Check32(b) })
+		checkStays(t, "ReadMutation", b, func(b []byte) { impl.ReadMutation(b) })
 	}
 	for _, m := range sampleMails() {
 		for _, name := range []string{"", "subject", "A", longText} {
@@ -686,6 +741,158 @@ func TestLogsAreNewMemory(t *testing.T) {
 		_ = append(first, "another")
 		if again, _, _ := impl.LogRecords(l); !slices.Equal(second, want) || !slices.Equal(again, want) {
 			t.Errorf("answers of LogRecords share memory: %s", told(l))
+		}
+	}
+}
+
+// copiedBoxes is boxes that share no list with others.
+func copiedBoxes(list []impl.Box) []impl.Box {
+	list = slices.Clone(list)
+	for i := range list {
+		list[i].Mails = slices.Clone(list[i].Mails)
+		list[i].Keys = slices.Clone(list[i].Keys)
+	}
+	return list
+}
+
+// widened is boxes, and all their lists, with something behind their ends.
+func widened(list []impl.Box) []impl.Box {
+	list = append(copiedBoxes(list), impl.Box{Name: "behind"})
+	for i := range list {
+		list[i].Mails = append(list[i].Mails, impl.Stored{Text: "behind"}, impl.Stored{})
+		list[i].Keys = append(list[i].Keys, "behind", "")
+	}
+	return list
+}
+
+// narrowed is widened boxes as they are handed in, in the same memory.
+func narrowed(list []impl.Box) []impl.Box {
+	list = slices.Clone(list)
+	for i, b := range list {
+		list[i].Mails = b.Mails[:len(b.Mails)-2]
+		list[i].Keys = b.Keys[:len(b.Keys)-2]
+	}
+	return list[:len(list)-1]
+}
+
+func TestBoxesStay(t *testing.T) {
+	for _, list := range sampleStores() {
+		room := widened(list)
+		before := copiedBoxes(room)
+		asked := narrowed(room)
+		whole := slices.Clone(asked[:len(list)+1])
+		for _, m := range sampleMutations() {
+			items := append(slices.Clone(m.Items), impl.Item{Key: "behind"})
+			m.Items = items[:len(items)-1]
+			had := slices.Clone(items)
+			impl.ApplyMutation(asked, m)
+			impl.MutationOK(m)
+			impl.MutationBytes(m)
+			if !slices.Equal(items, had) {
+				t.Errorf("something was written into the items of %s, or behind them", told(m))
+			}
+		}
+		impl.StoreOK(asked)
+		impl.SameStore(asked, asked)
+		impl.BoxAt(asked, "first")
+		for _, b := range asked[:min(len(asked), 3)] {
+			impl.BoxOK(b)
+			impl.StoredAt(b, 1)
+			impl.CountFlag(b, 1)
+		}
+		if !sameAnswer(room, before) || !sameAnswer(asked[:len(list)+1], whole) {
+			t.Errorf("something was written into %s, or behind them", told(list))
+		}
+	}
+}
+
+// textsOfBoxes is each text of boxes.
+func textsOfBoxes(list ...impl.Box) []string {
+	var texts []string
+	for _, b := range list {
+		texts = append(append(texts, b.Name), b.Keys...)
+		for _, m := range b.Mails {
+			texts = append(texts, m.Text)
+		}
+	}
+	return texts
+}
+
+// freshBoxes is boxes of which no text shares memory with another.
+func freshBoxes(list []impl.Box) []impl.Box {
+	list = copiedBoxes(list)
+	for i, b := range list {
+		list[i].Name = strings.Clone(b.Name)
+		for j := range b.Mails {
+			b.Mails[j].Text = strings.Clone(b.Mails[j].Text)
+		}
+		for j := range b.Keys {
+			b.Keys[j] = strings.Clone(b.Keys[j])
+		}
+	}
+	return list
+}
+
+func TestBoxesAreNewMemory(t *testing.T) {
+	for _, list := range someStores() {
+		list = freshBoxes(list)
+		for _, m := range append(sampleMutations(), impl.Mutation{Kind: impl.MuAdd, Box: strings.Clone("first"), Items: []impl.Item{{Key: strings.Clone("a key"), Text: strings.Clone("a text")}}}, madeBox(strings.Clone("a_box"))) {
+			got, _ := impl.ApplyMutation(list, m)
+			arguments := append(textsOfBoxes(list...), m.Box)
+			for _, x := range m.Items {
+				arguments = append(arguments, x.Key, x.Text)
+			}
+			checkNew(t, "ApplyMutation", textsOfBoxes(got...), arguments)
+			// What is written into one list of an answer, or behind it, is in no other.
+			before, want := copiedBoxes(list), copiedBoxes(got)
+			for i := range got {
+				_ = append(got[i].Mails, impl.Stored{Uid: 77})
+				_ = append(got[i].Keys, "other")
+				if !sameAnswer(got[i:], want[i:]) {
+					t.Errorf("lists of one answer of ApplyMutation share memory: %s", told(m))
+				}
+				clear(got[i].Mails[:cap(got[i].Mails)])
+				clear(got[i].Keys[:cap(got[i].Keys)])
+				if !sameAnswer(got[i+1:], want[i+1:]) {
+					t.Errorf("lists of one answer of ApplyMutation share memory: %s", told(m))
+				}
+			}
+			clear(got)
+			if again, _ := impl.ApplyMutation(list, m); !sameAnswer(list, before) || !sameAnswer(again, want) {
+				t.Errorf("answers of ApplyMutation share memory: %s", told(m))
+			}
+		}
+		for _, b := range list {
+			want := copiedBoxes([]impl.Box{b})[0]
+			got, _ := impl.BoxAt(list, b.Name)
+			checkNew(t, "BoxAt", textsOfBoxes(got), textsOfBoxes(list...))
+			clear(got.Mails)
+			clear(got.Keys)
+			if !sameAnswer(b, want) {
+				t.Errorf("BoxAt shares memory with its argument: %s", told(want))
+			}
+			for _, m := range b.Mails {
+				mail, _ := impl.StoredAt(b, m.Uid)
+				checkNew(t, "StoredAt", []string{mail.Text}, []string{m.Text})
+			}
+		}
+	}
+}
+
+func TestMutationsAreNewMemory(t *testing.T) {
+	for _, m := range rightMutations() {
+		b, _ := impl.MutationBytes(m)
+		other, _ := impl.MutationBytes(m)
+		first, _ := impl.ReadMutation(b)
+		want := slices.Clone(b)
+		clear(b)
+		if !slices.Equal(other, want) || !sameAnswer(first, m) {
+			t.Errorf("answers of MutationBytes share memory, or ReadMutation does with its argument: %s", told(m))
+		}
+		second, _ := impl.ReadMutation(want)
+		clear(first.Items)
+		if !sameAnswer(second, m) {
+			t.Errorf("answers of ReadMutation share memory: %s", told(m))
 		}
 	}
 }
