@@ -110,6 +110,18 @@ func sampleMutations() []impl.Mutation {
 	return append(someMutations("first"), added("none", "k"), flagged("full", 30, impl.MoAdd, 8), expunged("full"), added("full", "k"), added("spent", "k"), mutationOfBytes(impl.MaxRecord), mutationOfBytes(impl.MaxRecord+1), impl.Mutation{Kind: math.MinInt, Uid: math.MaxInt, Mode: math.MinInt, Flags: math.MaxInt, Box: endlessText, Items: make([]impl.Item, 2*impl.MaxList)})
 }
 
+func sampleEngines() []impl.Engine {
+	right, wrong := someEngines(), wrongEngines()
+	return append(right, wrong[0], wrong[8], wrong[15], wrong[len(wrong)-1], wrong[len(wrong)-2], wrong[len(wrong)-4], impl.Engine{Log: impl.Log{Room: math.MaxInt, Data: endlessText, Sure: math.MinInt}, Boxes: make([]impl.Box, impl.MaxList+1)})
+}
+
+// Feeds that are read, and ones that are not, beside those of sampleTexts.
+func samplePolls() []string {
+	return []string{
+		"", "<a>", "<feed/>", feedOfIds("a", "b", "a"), itemsOfIds("key 1", "new"), feedOfIds(keysOf(21)...), feedText(impl.Feed{Entries: []impl.Entry{entryOfMail("i", impl.MaxLetter)}}), feedText(impl.Feed{Atom: true, Entries: []impl.Entry{entryOfMail("i", impl.MaxLetter+1)}}), longText,
+	}
+}
+
 // A call that is put to the program, and what it answers: the code, if it has one, is the last of all.
 type call struct {
 	name  string
@@ -182,7 +194,40 @@ func callsOfBoxes() []call {
 	return list
 }
 
-// callsOfTexts is every call of chapters 1 to 10 that takes a text, and perhaps a number or another text, with every sample.
+// An engine stands beside most codes of Commit and Poll.
+func callsOfEngines() []call {
+	var list []call
+	for _, e := range sampleEngines() {
+		list = append(list,
+			call{"EngineOK", false, func() []any { return oneAnswer(impl.EngineOK(e)) }},
+			call{"ReplayLog", true, func() []any { return twoWithCode(impl.ReplayLog(e.Log)) }},
+		)
+		for _, m := range append(someMutations("news"), mutationOfBytes(impl.MaxRecord+1)) {
+			list = append(list, call{"Commit", false, func() []any { return withCode(impl.Commit(e, m)) }})
+			for _, keep := range []int{math.MinInt, 0, 20, math.MaxInt} {
+				list = append(list, call{"CommitCrash", true, func() []any { return withCode(impl.CommitCrash(e, m, keep)) }})
+			}
+		}
+		for _, feed := range samplePolls() {
+			for _, box := range []string{"news", "none", longText} {
+				list = append(list, call{"Poll", false, func() []any { return twoWithCode(impl.Poll(e, box, feed)) }})
+			}
+		}
+	}
+	for _, boxes := range sampleStores() {
+		for _, feed := range samplePolls() {
+			for _, box := range []string{"first", "full", "none", longText} {
+				list = append(list, call{"PollMutation", true, func() []any { return withCode(impl.PollMutation(boxes, box, feed)) }})
+			}
+		}
+	}
+	for _, l := range sampleLogs() {
+		list = append(list, call{"ReplayLog", true, func() []any { return twoWithCode(impl.ReplayLog(l)) }})
+	}
+	return list
+}
+
+// callsOfTexts is every call of chapters 1 to 11 that takes a text, and perhaps a number or another text, with every sample.
 func callsOfTexts() []call {
 	var list []call
 	for _, x := range sampleTexts() {
@@ -226,6 +271,10 @@ func callsOfTexts() []call {
 			call{"ApplyMutation", false, func() []any {
 				return withCode(impl.ApplyMutation([]impl.Box{plainBox("a", 1)}, impl.Mutation{Kind: impl.MuAdd, Box: "a", Items: []impl.Item{{Key: x, Text: x}}}))
 			}},
+			call{"PollMutation", true, func() []any { return withCode(impl.PollMutation([]impl.Box{plainBox("a", 1)}, "a", x)) }},
+			call{"Poll", false, func() []any { return twoWithCode(impl.Poll(engineOf(impl.MaxRoom, madeBox("a")), "a", x)) }},
+			call{"Poll", false, func() []any { return twoWithCode(impl.Poll(engineOf(impl.MaxRoom, madeBox("a")), x, "<feed/>")) }},
+			call{"ReplayLog", true, func() []any { return twoWithCode(impl.ReplayLog(impl.Log{Room: impl.MaxRoom, Data: x})) }},
 		)
 		for _, part := range []string{"", "HEADER", "TEXT", "text", longText} {
 			list = append(list, call{"MailPart", true, func() []any { return withCode(impl.MailPart(x, part)) }})
@@ -245,7 +294,7 @@ func callsOfTexts() []call {
 
 // allCalls is every call of the chapters that are built, with every sample.
 func allCalls() []call {
-	list := slices.Concat(callsOfTexts(), callsOfLogs(), callsOfBoxes())
+	list := slices.Concat(callsOfTexts(), callsOfLogs(), callsOfBoxes(), callsOfEngines())
 	for _, n := range sampleNumbers() {
 		list = append(list,
 			call{"CodeWord", false, func() []any { return oneAnswer(impl.CodeWord(n)) }},
@@ -256,6 +305,7 @@ func allCalls() []call {
 			call{"Rfc3339Text", true, func() []any { return withCode(impl.Rfc3339Text(n)) }},
 			call{"Rfc822Text", true, func() []any { return withCode(impl.Rfc822Text(n)) }},
 			call{"NewLog", true, func() []any { return withCode(impl.NewLog(n)) }},
+			call{"NewEngine", true, func() []any { return withCode(impl.NewEngine(n)) }},
 		)
 	}
 	for _, c := range sampleCivils() {
@@ -894,6 +944,99 @@ func TestMutationsAreNewMemory(t *testing.T) {
 		if !sameAnswer(second, m) {
 			t.Errorf("answers of ReadMutation share memory: %s", told(m))
 		}
+	}
+}
+
+func TestEnginesStay(t *testing.T) {
+	for _, e := range sampleEngines() {
+		room := widened(e.Boxes)
+		before := copiedBoxes(room)
+		asked := narrowed(room)
+		whole := slices.Clone(asked[:len(e.Boxes)+1])
+		engine := impl.Engine{Log: e.Log, Boxes: asked}
+		for _, m := range someMutations("news") {
+			items := append(slices.Clone(m.Items), impl.Item{Key: "behind"})
+			m.Items = items[:len(items)-1]
+			had := slices.Clone(items)
+			impl.Commit(engine, m)
+			impl.CommitCrash(engine, m, 10)
+			impl.CommitCrash(engine, m, math.MaxInt)
+			if !slices.Equal(items, had) {
+				t.Errorf("something was written into the items of %s, or behind them", told(m))
+			}
+		}
+		for _, feed := range samplePolls() {
+			impl.PollMutation(asked, "news", feed)
+			impl.Poll(engine, "news", feed)
+		}
+		impl.EngineOK(engine)
+		if !sameAnswer(room, before) || !sameAnswer(asked[:len(e.Boxes)+1], whole) {
+			t.Errorf("something was written into %s, or behind its boxes", told(e))
+		}
+	}
+}
+
+// checkNewEngine asks that an answer shares nothing with an engine that was handed in, nor within itself, and says what it says still when it was asked again.
+func checkNewEngine(t *testing.T, name string, e impl.Engine, arguments []string, ask func() impl.Engine) {
+	t.Helper()
+	got := ask()
+	checkNew(t, name, append(textsOfBoxes(got.Boxes...), got.Log.Data), append(append(textsOfBoxes(e.Boxes...), e.Log.Data), arguments...))
+	before, want := copiedBoxes(e.Boxes), copiedBoxes(got.Boxes)
+	for i, b := range got.Boxes {
+		_ = append(b.Mails, impl.Stored{Uid: 77})
+		_ = append(b.Keys, "other")
+		if !sameAnswer(got.Boxes[i:], want[i:]) {
+			t.Errorf("lists of one answer of %s share memory", name)
+		}
+		clear(b.Mails[:cap(b.Mails)])
+		clear(b.Keys[:cap(b.Keys)])
+		if !sameAnswer(got.Boxes[i+1:], want[i+1:]) {
+			t.Errorf("lists of one answer of %s share memory", name)
+		}
+	}
+	clear(got.Boxes[:cap(got.Boxes)])
+	if !sameAnswer(e.Boxes, before) || !sameAnswer(ask().Boxes, want) {
+		t.Errorf("answers of %s share memory", name)
+	}
+}
+
+func TestEnginesAreNewMemory(t *testing.T) {
+	for _, e := range someEngines() {
+		e.Log.Data, e.Boxes = strings.Clone(e.Log.Data), freshBoxes(e.Boxes)
+		fresh := impl.Mutation{Kind: impl.MuAdd, Box: strings.Clone("news"), Items: []impl.Item{{Key: strings.Clone("a key"), Text: strings.Clone("a text")}}}
+		for _, m := range append(someMutations("news"), fresh, madeBox(strings.Clone("a_box")), mutationOfBytes(impl.MaxRecord+1)) {
+			texts := []string{m.Box}
+			for _, x := range m.Items {
+				texts = append(texts, x.Key, x.Text)
+			}
+			checkNewEngine(t, "Commit", e, texts, func() impl.Engine { got, _ := impl.Commit(e, m); return got })
+			for _, keep := range []int{0, 20, math.MaxInt} {
+				checkNewEngine(t, "CommitCrash", e, texts, func() impl.Engine { got, _ := impl.CommitCrash(e, m, keep); return got })
+			}
+		}
+		for _, feed := range samplePolls() {
+			for _, box := range []string{strings.Clone("news"), strings.Clone("none")} {
+				checkNewEngine(t, "Poll", e, []string{box, feed}, func() impl.Engine { got, _, _ := impl.Poll(e, box, feed); return got })
+				checkNewPoll(t, e.Boxes, box, feed)
+			}
+		}
+		checkNewEngine(t, "ReplayLog", e, nil, func() impl.Engine { boxes, _, _ := impl.ReplayLog(e.Log); return impl.Engine{Boxes: boxes} })
+	}
+}
+
+func checkNewPoll(t *testing.T, boxes []impl.Box, box, feed string) {
+	t.Helper()
+	m, _ := impl.PollMutation(boxes, box, feed)
+	other, _ := impl.PollMutation(boxes, box, feed)
+	texts := []string{m.Box}
+	for _, x := range m.Items {
+		texts = append(texts, x.Key, x.Text)
+	}
+	checkNew(t, "PollMutation", texts, append(textsOfBoxes(boxes...), box, feed))
+	want := slices.Clone(other.Items)
+	clear(m.Items)
+	if !slices.Equal(other.Items, want) {
+		t.Errorf("answers of PollMutation share memory: %s", told(other))
 	}
 }
 
