@@ -22,6 +22,7 @@ func sampleTexts() []string {
 		"<a b='1 &amp; 2' c=\"\">x<!-- y --><b/>\r<![CDATA[z]]></a>", "<a>", "<a/>&none;", "a&b<c>\"'\r", "&#x20ac;", strings.Repeat("<a>", 13), "<a b='' b=''/>", strings.Repeat("&", impl.MaxText/8), strings.Repeat("&", impl.MaxText/8+1),
 		"<rss version='2.0'><channel><title>t</title><item><guid>i</guid><title> a\n b</title></item></channel></rss>", "<feed><entry><link href='l'/><author><name>n</name></author><updated>2020-01-02T03:04:05Z</updated><content> c\r</content></entry></feed>", "<feed><entry/></feed>", "<rss/>", "<feed><title>" + longLine + "</title></feed>",
 		"X: y\r\n z\r\n\r\na\r\n", "X: y\r\n", "X: \u00e4\r\n\r\n", "\r\n", strings.Join(rightFields(), "") + "\r\ne =3D\r\n", strings.Join(rightFields(), "") + "\r\n=\r\n", manyFields(40) + "\r\n\r\n", manyFields(41) + "\r\n\r\n", mailOfBytes(impl.MaxText), mailOfBytes(impl.MaxText + 1), "TEXT", "HEADER",
+		"1", "*:7,5:3", "1,,2", "4294967296", strings.Repeat("1,", 50) + "*", "()", "(\\Seen \\DRAFT)", "(\\Seen  \\Draft)", "(none)", "\\Seen",
 		"\xff", "\xc0\x80", "a\xe2\x82", "\xed\xa0\x80", "\xf4\x90\x80\x80", "\x80b\xff",
 		strings.Repeat("n", impl.MaxName), strings.Repeat("n", impl.MaxName+1), lineBytes(impl.MaxField), longLine,
 		strings.Repeat("\u20ac", impl.MaxList), fullText, strings.Repeat("\xff", impl.MaxText),
@@ -119,6 +120,33 @@ func sampleEngines() []impl.Engine {
 func samplePolls() []string {
 	return []string{
 		"", "<a>", "<feed/>", feedOfIds("a", "b", "a"), itemsOfIds("key 1", "new"), feedOfIds(keysOf(21)...), feedText(impl.Feed{Entries: []impl.Entry{entryOfMail("i", impl.MaxLetter)}}), feedText(impl.Feed{Atom: true, Entries: []impl.Entry{entryOfMail("i", impl.MaxLetter+1)}}), longText,
+	}
+}
+
+func sampleSets() [][]impl.Range {
+	return [][]impl.Range{
+		nil, {}, rangesOf(1, 1), rangesOf(0, 0), rangesOf(5, 3, 0, 7), rangesOf(1, 4294967295), rangesOf(-1, 1), rangesOf(1, 4294967296), rangesOf(math.MinInt, math.MaxInt),
+		slices.Repeat(rangesOf(2, 0), 50), slices.Repeat(rangesOf(2, 0), 51), make([]impl.Range, impl.MaxList), make([]impl.Range, impl.MaxList+1),
+	}
+}
+
+func sampleSearches() [][]impl.SearchKey {
+	list := [][]impl.SearchKey{nil, {}, someKeys()[:8], slices.Repeat([]impl.SearchKey{turned(wordKey("SUBJECT", "no"))}, 20), slices.Repeat([]impl.SearchKey{keyOf("ALL")}, 21), make([]impl.SearchKey, impl.MaxList), make([]impl.SearchKey, impl.MaxList+1)}
+	for _, k := range append(someKeys(), wordKey("TEXT", longText), wordKey("ALL", longText), keyOf(endlessText), setKey("UID", -1, math.MaxInt), setKey("SEEN", 1, 1)) {
+		list = append(list, []impl.SearchKey{k}, []impl.SearchKey{keyOf("ALL"), turned(k)})
+	}
+	return list
+}
+
+func sampleStored() []impl.Stored {
+	return []impl.Stored{{}, {Uid: 5, Flags: 21, Text: mailOfFields("Subject: A word", "From: =?utf-8?B?w6Q=?=")}, {Uid: math.MinInt, Flags: math.MinInt, Text: "\xff"}, {Uid: math.MaxInt, Flags: -1, Text: fullText}, {Uid: 1, Text: longText}}
+}
+
+// Words that are searches, and ones that are none.
+func sampleWords() [][]string {
+	return [][]string{
+		nil, {}, {"all"}, {"not", "Seen", "subject", "a Word", "uid", "2:*", "1"}, {"not"}, {"NOT", "not", "1,2"}, {"text"}, {"from", ""}, {"uid", "none"}, {"\xff"}, {"text", endlessText}, {endlessText},
+		slices.Repeat([]string{"not", "1"}, 20), slices.Repeat([]string{"1"}, 21), append(slices.Repeat([]string{"not"}, impl.MaxList-1), "seen"), slices.Repeat([]string{"seen"}, impl.MaxList+1),
 	}
 }
 
@@ -227,7 +255,32 @@ func callsOfEngines() []call {
 	return list
 }
 
-// callsOfTexts is every call of chapters 1 to 11 that takes a text, and perhaps a number or another text, with every sample.
+func callsOfSearches() []call {
+	var list []call
+	for _, set := range sampleSets() {
+		list = append(list, call{"SetText", true, func() []any { return withCode(impl.SetText(set)) }})
+		for _, n := range append(sampleNumbers(), impl.MaxNumber) {
+			for _, top := range []int{0, 7, impl.MaxNumber, -1, impl.MaxNumber + 1, math.MaxInt, math.MinInt} {
+				list = append(list, call{"SetHas", true, func() []any { return withCode(impl.SetHas(set, n, top)) }})
+			}
+		}
+	}
+	for _, words := range sampleWords() {
+		list = append(list, call{"ReadSearch", true, func() []any { return withCode(impl.ReadSearch(words)) }})
+	}
+	for _, keys := range sampleSearches() {
+		for _, m := range sampleStored() {
+			for _, seq := range []int{1, impl.MaxNumber, 0, math.MinInt, math.MaxInt} {
+				for _, tops := range [][2]int{{0, 0}, {impl.MaxNumber, 7}, {-1, 1}, {1, math.MaxInt}} {
+					list = append(list, call{"MatchSearch", true, func() []any { return withCode(impl.MatchSearch(keys, m, seq, tops[0], tops[1])) }})
+				}
+			}
+		}
+	}
+	return list
+}
+
+// callsOfTexts is every call of chapters 1 to 12 that takes a text, and perhaps a number or another text, with every sample.
 func callsOfTexts() []call {
 	var list []call
 	for _, x := range sampleTexts() {
@@ -275,6 +328,12 @@ func callsOfTexts() []call {
 			call{"Poll", false, func() []any { return twoWithCode(impl.Poll(engineOf(impl.MaxRoom, madeBox("a")), "a", x)) }},
 			call{"Poll", false, func() []any { return twoWithCode(impl.Poll(engineOf(impl.MaxRoom, madeBox("a")), x, "<feed/>")) }},
 			call{"ReplayLog", true, func() []any { return twoWithCode(impl.ReplayLog(impl.Log{Room: impl.MaxRoom, Data: x})) }},
+			call{"ReadSet", true, func() []any { return withCode(impl.ReadSet(x)) }},
+			call{"ReadFlags", true, func() []any { return withCode(impl.ReadFlags(x)) }},
+			call{"ReadSearch", true, func() []any { return withCode(impl.ReadSearch([]string{"text", x, x})) }},
+			call{"MatchSearch", true, func() []any {
+				return withCode(impl.MatchSearch([]impl.SearchKey{wordKey("TEXT", x), wordKey("FROM", "a")}, impl.Stored{Text: x}, 1, 1, 1))
+			}},
 		)
 		for _, part := range []string{"", "HEADER", "TEXT", "text", longText} {
 			list = append(list, call{"MailPart", true, func() []any { return withCode(impl.MailPart(x, part)) }})
@@ -294,7 +353,7 @@ func callsOfTexts() []call {
 
 // allCalls is every call of the chapters that are built, with every sample.
 func allCalls() []call {
-	list := slices.Concat(callsOfTexts(), callsOfLogs(), callsOfBoxes(), callsOfEngines())
+	list := slices.Concat(callsOfTexts(), callsOfLogs(), callsOfBoxes(), callsOfEngines(), callsOfSearches())
 	for _, n := range sampleNumbers() {
 		list = append(list,
 			call{"CodeWord", false, func() []any { return oneAnswer(impl.CodeWord(n)) }},
@@ -306,6 +365,7 @@ func allCalls() []call {
 			call{"Rfc822Text", true, func() []any { return withCode(impl.Rfc822Text(n)) }},
 			call{"NewLog", true, func() []any { return withCode(impl.NewLog(n)) }},
 			call{"NewEngine", true, func() []any { return withCode(impl.NewEngine(n)) }},
+			call{"FlagsText", true, func() []any { return withCode(impl.FlagsText(n)) }},
 		)
 	}
 	for _, c := range sampleCivils() {
@@ -524,6 +584,16 @@ func TestListsStay(t *testing.T) {
 		for name, ask := range map[string]func(impl.Feed){"FeedOK": func(f impl.Feed) { impl.FeedOK(f) }, "FeedKeys": func(f impl.Feed) { impl.FeedKeys(f) }, "FeedText": func(f impl.Feed) { impl.FeedText(f) }} {
 			checkStays(t, name, f.Entries, func(list []impl.Entry) { ask(impl.Feed{Atom: f.Atom, Title: f.Title, Entries: list}) })
 		}
+	}
+	for _, set := range sampleSets() {
+		checkStays(t, "SetText", set, func(list []impl.Range) { impl.SetText(list) })
+		checkStays(t, "SetHas", set, func(list []impl.Range) { impl.SetHas(list, 7, 7) })
+		checkStays(t, "MatchSearch", set, func(list []impl.Range) {
+			impl.MatchSearch([]impl.SearchKey{{Kind: "UID", Set: list}, {Kind: "SET", Set: list}}, impl.Stored{Uid: 7}, 7, 7, 7)
+		})
+	}
+	for _, words := range sampleWords() {
+		checkStays(t, "ReadSearch", words, func(list []string) { impl.ReadSearch(list) })
 	}
 }
 
@@ -1037,6 +1107,58 @@ func checkNewPoll(t *testing.T, boxes []impl.Box, box, feed string) {
 	clear(m.Items)
 	if !slices.Equal(other.Items, want) {
 		t.Errorf("answers of PollMutation share memory: %s", told(other))
+	}
+}
+
+func TestSearchesStay(t *testing.T) {
+	for _, keys := range sampleSearches() {
+		room := append(slices.Clone(keys), wordKey("TEXT", "behind"), impl.SearchKey{})
+		before := slices.Clone(room)
+		for i := range before {
+			before[i].Set = slices.Clone(before[i].Set)
+		}
+		for _, m := range sampleStored() {
+			impl.MatchSearch(room[:len(keys)], m, 7, 7, 7)
+		}
+		if !sameAnswer(room, before) {
+			t.Errorf("something was written into %s, or behind them", told(keys))
+		}
+	}
+}
+
+func TestSearchesAreNewMemory(t *testing.T) {
+	text := strings.Clone("12,5:3,*:7")
+	first, _ := impl.ReadSet(text)
+	second, _ := impl.ReadSet(text)
+	clear(first)
+	_ = append(first, impl.Range{From: 9})
+	if again, _ := impl.ReadSet(text); !sameAnswer(second, rangesOf(12, 12, 5, 3, 0, 7)) || !sameAnswer(again, second) {
+		t.Errorf("answers of ReadSet share memory: %v, %v", second, again)
+	}
+	var words, texts []string
+	for _, k := range someKeys() {
+		for _, word := range wordsOfKey(turned(k)) {
+			words = append(words, strings.Clone(word))
+		}
+	}
+	keys, _ := impl.ReadSearch(words)
+	other, _ := impl.ReadSearch(words)
+	want, _ := searchOf(words)
+	for _, k := range keys {
+		texts = append(texts, k.Kind, k.Text)
+	}
+	checkNew(t, "ReadSearch", texts, words)
+	// What is written into one list of an answer, or behind it, is in no other.
+	for i, k := range keys {
+		_ = append(k.Set, impl.Range{From: 9})
+		clear(k.Set[:cap(k.Set)])
+		if !sameAnswer(keys[i+1:], want[i+1:]) {
+			t.Error("lists of one answer of ReadSearch share memory")
+		}
+	}
+	clear(keys[:cap(keys)])
+	if again, code := impl.ReadSearch(words); !sameAnswer(other, want) || !sameAnswer(again, want) || code != impl.OK {
+		t.Errorf("answers of ReadSearch share memory: %s, %s, %d", told(other), told(again), code)
 	}
 }
 
