@@ -23,6 +23,7 @@ func sampleTexts() []string {
 		"<rss version='2.0'><channel><title>t</title><item><guid>i</guid><title> a\n b</title></item></channel></rss>", "<feed><entry><link href='l'/><author><name>n</name></author><updated>2020-01-02T03:04:05Z</updated><content> c\r</content></entry></feed>", "<feed><entry/></feed>", "<rss/>", "<feed><title>" + longLine + "</title></feed>",
 		"X: y\r\n z\r\n\r\na\r\n", "X: y\r\n", "X: \u00e4\r\n\r\n", "\r\n", strings.Join(rightFields(), "") + "\r\ne =3D\r\n", strings.Join(rightFields(), "") + "\r\n=\r\n", manyFields(40) + "\r\n\r\n", manyFields(41) + "\r\n\r\n", mailOfBytes(impl.MaxText), mailOfBytes(impl.MaxText + 1), "TEXT", "HEADER",
 		"1", "*:7,5:3", "1,,2", "4294967296", strings.Repeat("1,", 50) + "*", "()", "(\\Seen \\DRAFT)", "(\\Seen  \\Draft)", "(none)", "\\Seen",
+		"a1 uid (b [c]) \"d \\\"\" {2}\r\n\r\n e", "a noop\r\nb", "a {3}\r\n{1}\r\n\r\n", "a {3}\r\n{1}", "a {4001}\r\n", "a \"\"", "a b \"c", "(a [b] c)", strings.Repeat("t", 20) + " N" + strings.Repeat(" w", impl.MaxArgs), "t N" + strings.Repeat(" w", impl.MaxArgs+1), strings.Repeat("x", impl.MaxCommand) + "\r\ny", strings.Repeat("x", impl.MaxCommand+1) + "\r\ny",
 		"\xff", "\xc0\x80", "a\xe2\x82", "\xed\xa0\x80", "\xf4\x90\x80\x80", "\x80b\xff",
 		strings.Repeat("n", impl.MaxName), strings.Repeat("n", impl.MaxName+1), lineBytes(impl.MaxField), longLine,
 		strings.Repeat("\u20ac", impl.MaxList), fullText, strings.Repeat("\xff", impl.MaxText),
@@ -148,6 +149,15 @@ func sampleWords() [][]string {
 		nil, {}, {"all"}, {"not", "Seen", "subject", "a Word", "uid", "2:*", "1"}, {"not"}, {"NOT", "not", "1,2"}, {"text"}, {"from", ""}, {"uid", "none"}, {"\xff"}, {"text", endlessText}, {endlessText},
 		slices.Repeat([]string{"not", "1"}, 20), slices.Repeat([]string{"1"}, 21), append(slices.Repeat([]string{"not"}, impl.MaxList-1), "seen"), slices.Repeat([]string{"seen"}, impl.MaxList+1),
 	}
+}
+
+// Commands that have a text, and ones that have none.
+func sampleCommands() []impl.Command {
+	list := []impl.Command{{}, {Tag: "a", Name: "lower"}, {Tag: "a", Name: "(X"}, {Tag: endlessText, Name: longText, Args: []string{endlessText}}, {Tag: "a", Name: fullText}, {Tag: "a b", Name: "X"}}
+	for _, words := range append(sampleWords(), []string{"\r\n", "(", "\"", "\\", strings.Repeat("w", 200), strings.Repeat("w", 201)}, []string{strings.Repeat("w", impl.MaxCommand)}, []string{strings.Repeat("w", impl.MaxCommand), "w"}, make([]string, impl.MaxArgs), make([]string, impl.MaxArgs+1)) {
+		list = append(list, impl.Command{Tag: "a1", Name: "X", Args: words}, impl.Command{Tag: "}", Name: "(A [B])", Args: words})
+	}
+	return list
 }
 
 // A call that is put to the program, and what it answers: the code, if it has one, is the last of all.
@@ -280,7 +290,15 @@ func callsOfSearches() []call {
 	return list
 }
 
-// callsOfTexts is every call of chapters 1 to 12 that takes a text, and perhaps a number or another text, with every sample.
+func callsOfCommands() []call {
+	var list []call
+	for _, c := range sampleCommands() {
+		list = append(list, call{"CommandText", true, func() []any { return withCode(impl.CommandText(c)) }})
+	}
+	return list
+}
+
+// callsOfTexts is every call of chapters 1 to 13 that takes a text, and perhaps a number or another text, with every sample.
 func callsOfTexts() []call {
 	var list []call
 	for _, x := range sampleTexts() {
@@ -331,6 +349,14 @@ func callsOfTexts() []call {
 			call{"ReadSet", true, func() []any { return withCode(impl.ReadSet(x)) }},
 			call{"ReadFlags", true, func() []any { return withCode(impl.ReadFlags(x)) }},
 			call{"ReadSearch", true, func() []any { return withCode(impl.ReadSearch([]string{"text", x, x})) }},
+			call{"TakeCommand", false, func() []any { return twoWithCode(impl.TakeCommand(x)) }},
+			call{"ParseCommand", true, func() []any { return withCode(impl.ParseCommand(x)) }},
+			call{"QuoteText", true, func() []any { return withCode(impl.QuoteText(x)) }},
+			call{"CommandText", true, func() []any {
+				return withCode(impl.CommandText(impl.Command{Tag: "a", Name: "X", Args: []string{x, "b"}}))
+			}},
+			call{"CommandText", true, func() []any { return withCode(impl.CommandText(impl.Command{Tag: x, Name: x})) }},
+			call{"ListWords", true, func() []any { return withCode(impl.ListWords(x)) }},
 			call{"MatchSearch", true, func() []any {
 				return withCode(impl.MatchSearch([]impl.SearchKey{wordKey("TEXT", x), wordKey("FROM", "a")}, impl.Stored{Text: x}, 1, 1, 1))
 			}},
@@ -353,7 +379,7 @@ func callsOfTexts() []call {
 
 // allCalls is every call of the chapters that are built, with every sample.
 func allCalls() []call {
-	list := slices.Concat(callsOfTexts(), callsOfLogs(), callsOfBoxes(), callsOfEngines(), callsOfSearches())
+	list := slices.Concat(callsOfTexts(), callsOfLogs(), callsOfBoxes(), callsOfEngines(), callsOfSearches(), callsOfCommands())
 	for _, n := range sampleNumbers() {
 		list = append(list,
 			call{"CodeWord", false, func() []any { return oneAnswer(impl.CodeWord(n)) }},
@@ -594,6 +620,9 @@ func TestListsStay(t *testing.T) {
 	}
 	for _, words := range sampleWords() {
 		checkStays(t, "ReadSearch", words, func(list []string) { impl.ReadSearch(list) })
+	}
+	for _, c := range sampleCommands() {
+		checkStays(t, "CommandText", c.Args, func(list []string) { impl.CommandText(impl.Command{Tag: c.Tag, Name: c.Name, Args: list}) })
 	}
 }
 
@@ -1159,6 +1188,41 @@ func TestSearchesAreNewMemory(t *testing.T) {
 	clear(keys[:cap(keys)])
 	if again, code := impl.ReadSearch(words); !sameAnswer(other, want) || !sameAnswer(again, want) || code != impl.OK {
 		t.Errorf("answers of ReadSearch share memory: %s, %s, %d", told(other), told(again), code)
+	}
+}
+
+func TestCommandsAreNewMemory(t *testing.T) {
+	for _, x := range []string{"a noop\r\nb noop", "a b {3}\r\n\r\nc d\r\n\r\n", "not whole", "a {4001}\r\n", longText} {
+		x = strings.Clone(x)
+		command, rest, _ := impl.TakeCommand(x)
+		checkNew(t, "TakeCommand", []string{command, rest}, []string{x})
+		checkNew(t, "TakeCommand, both", []string{command}, []string{rest})
+	}
+	for _, x := range []string{"a1 NOOP word other", "tag uid \"quoted\" (a list) {3}\r\nabc", "a \"NAME\" \"\\\"\"", "a (NAME)"} {
+		x = strings.Clone(x)
+		first, _ := impl.ParseCommand(x)
+		second, _ := impl.ParseCommand(x)
+		want, _ := commandOf(x)
+		checkNew(t, "ParseCommand", append([]string{first.Tag, first.Name}, first.Args...), []string{x})
+		_ = append(first.Args, "other")
+		clear(first.Args[:cap(first.Args)])
+		if again, _ := impl.ParseCommand(x); !sameAnswer(second, want) || !sameAnswer(again, want) {
+			t.Errorf("answers of ParseCommand share memory: %s, %s", toldCommand(second), toldCommand(again))
+		}
+	}
+	for _, word := range []string{"a", "a \"b\"", "\r\n", strings.Repeat("w", 201)} {
+		c := impl.Command{Tag: strings.Clone("a"), Name: strings.Clone("NOOP"), Args: []string{strings.Clone(word)}}
+		quoted, _ := impl.QuoteText(c.Args[0])
+		text, _ := impl.CommandText(c)
+		checkNew(t, "QuoteText and CommandText", []string{quoted, text}, append([]string{c.Tag, c.Name}, c.Args...))
+	}
+	list := strings.Clone("(some plain words)")
+	first, _ := impl.ListWords(list)
+	second, _ := impl.ListWords(list)
+	checkNew(t, "ListWords", first, []string{list})
+	clear(first[:cap(first)])
+	if again, _ := impl.ListWords(list); strings.Join(second, " ") != "some plain words" || !slices.Equal(again, second) {
+		t.Errorf("answers of ListWords share memory: %q, %q", second, again)
 	}
 }
 
