@@ -160,6 +160,33 @@ func sampleCommands() []impl.Command {
 	return list
 }
 
+// Sessions that are right, and ones that are not.
+func sampleSessions() []impl.Imap {
+	return append(someSays(), impl.Imap{}, selectedOf("news", false, 1, 3, 4), selectedOf("gone", true, 1), selectedOf("", false), selectedOf(endlessText, true, math.MinInt, math.MaxInt), selectedOf("news", false, make([]int, impl.MaxList+1)...), impl.Imap{State: 2, View: []int{1}}, impl.Imap{State: math.MinInt})
+}
+
+// Views that are right, and ones that are not.
+func sampleViews() [][]int {
+	return append(wrongViews(), nil, []int{}, []int{1}, []int{1, 3, 5}, []int{2, 1000}, upTo(1, 60), upTo(1, impl.MaxUid), make([]int, impl.MaxList), make([]int, impl.MaxList+1))
+}
+
+// Commands of sessions, and what is none.
+func sampleLines() []string {
+	return []string{
+		"", "a", "a noop", "a login me feed", "a list x *", "a select news", "a examine more", "a status news (messages unseen)", "a fetch 1:* (flags uid body[text])", "a uid fetch * body.peek[]", "a store 1:* +flags (\\Seen)", "a uid store 1,3 flags.silent (\\Deleted)", "a search not seen text b", "a expunge", "a close", "a logout", "a {2}\r\n\r\n \"", strings.Repeat("x", impl.MaxCommand), strings.Repeat("x", impl.MaxCommand+1), longText,
+	}
+}
+
+// Items of FETCH, and what is none.
+func sampleItems() [][]string {
+	return [][]string{nil, {}, {"flags"}, {"UID", "body[]", "BODY.PEEK[text]", "rfc822.size"}, {"body[x]"}, {"flags", ""}, {endlessText}, slices.Repeat([]string{"body[header]"}, impl.MaxArgs), slices.Repeat([]string{"uid"}, impl.MaxArgs+1), make([]string, impl.MaxList), make([]string, impl.MaxList+1)}
+}
+
+// Engines with mails beside those of sampleEngines, whose texts are none.
+func talkedEngines() []impl.Engine {
+	return append(sampleEngines(), newsEngine(0), newsEngine(30), newsEngine(5000))
+}
+
 // A call that is put to the program, and what it answers: the code, if it has one, is the last of all.
 type call struct {
 	name  string
@@ -193,6 +220,45 @@ func callsOfLogs() []call {
 		}
 		for _, x := range []string{"", "a", "\x00\xff", fullText[:impl.MaxRecord], fullText[:impl.MaxRecord+1], fullText, longText} {
 			list = append(list, call{"LogAppend", false, func() []any { return withCode(impl.LogAppend(l, x)) }})
+		}
+	}
+	return list
+}
+
+// An engine and a session stand beside ErrState of ImapStep.
+func callsOfSessions() []call {
+	list := []call{{"NewImap", false, func() []any { return oneAnswer(impl.NewImap()) }}}
+	for _, s := range sampleSessions() {
+		list = append(list, call{"ImapOK", false, func() []any { return oneAnswer(impl.ImapOK(s)) }})
+		for _, e := range talkedEngines() {
+			for _, x := range sampleLines() {
+				list = append(list, call{"ImapStep", s.State != impl.ImClosed, func() []any {
+					got, next, said, code := impl.ImapStep(e, s, x)
+					return []any{got, next, said, code}
+				}})
+			}
+		}
+	}
+	for _, e := range talkedEngines() {
+		for _, lines := range append(sampleWords(), sampleLines()[:17], append([]string{"a login me feed", "a select news"}, sampleLines()[:17]...), sampleLines(), make([]string, 60), make([]string, 61)) {
+			list = append(list, call{"ImapRun", true, func() []any { return twoWithCode(impl.ImapRun(e, lines)) }})
+		}
+	}
+	for _, boxes := range sampleStores() {
+		for _, b := range boxes[:min(len(boxes), 2)] {
+			for _, view := range sampleViews() {
+				list = append(list, call{"ViewUpdates", true, func() []any { return twoWithCode(impl.ViewUpdates(b, view)) }})
+			}
+		}
+	}
+	for _, m := range append(sampleStored(), impl.Stored{Uid: 1, Flags: 31, Text: "X: y\r\n\r\nbody\r\n"}, impl.Stored{Uid: impl.MaxUid, Text: mailOfBytes(impl.MaxLetter)}) {
+		for _, seq := range []int{0, 1, impl.MaxNumber, impl.MaxNumber + 1, math.MinInt} {
+			for _, items := range sampleItems() {
+				list = append(list,
+					call{"FetchText", true, func() []any { return twoWithCode(impl.FetchText(m, seq, items, false)) }},
+					call{"FetchText", true, func() []any { return twoWithCode(impl.FetchText(m, seq, items, true)) }},
+				)
+			}
 		}
 	}
 	return list
@@ -298,7 +364,7 @@ func callsOfCommands() []call {
 	return list
 }
 
-// callsOfTexts is every call of chapters 1 to 13 that takes a text, and perhaps a number or another text, with every sample.
+// callsOfTexts is every call of chapters 1 to 14 that takes a text, and perhaps a number or another text, with every sample.
 func callsOfTexts() []call {
 	var list []call
 	for _, x := range sampleTexts() {
@@ -357,6 +423,16 @@ func callsOfTexts() []call {
 			}},
 			call{"CommandText", true, func() []any { return withCode(impl.CommandText(impl.Command{Tag: x, Name: x})) }},
 			call{"ListWords", true, func() []any { return withCode(impl.ListWords(x)) }},
+			call{"FetchText", true, func() []any {
+				return twoWithCode(impl.FetchText(impl.Stored{Uid: 1, Text: x}, 1, []string{"uid", "body[header]"}, true))
+			}},
+			call{"FetchText", true, func() []any { return twoWithCode(impl.FetchText(impl.Stored{Uid: 1}, 1, []string{x}, true)) }},
+			call{"ImapOK", false, func() []any { return oneAnswer(impl.ImapOK(selectedOf(x, true))) }},
+			call{"ImapStep", true, func() []any {
+				got, next, said, code := impl.ImapStep(impl.Engine{}, impl.NewImap(), x)
+				return []any{got, next, said, code}
+			}},
+			call{"ImapRun", true, func() []any { return twoWithCode(impl.ImapRun(impl.Engine{}, []string{"a login me feed", x})) }},
 			call{"MatchSearch", true, func() []any {
 				return withCode(impl.MatchSearch([]impl.SearchKey{wordKey("TEXT", x), wordKey("FROM", "a")}, impl.Stored{Text: x}, 1, 1, 1))
 			}},
@@ -379,7 +455,7 @@ func callsOfTexts() []call {
 
 // allCalls is every call of the chapters that are built, with every sample.
 func allCalls() []call {
-	list := slices.Concat(callsOfTexts(), callsOfLogs(), callsOfBoxes(), callsOfEngines(), callsOfSearches(), callsOfCommands())
+	list := slices.Concat(callsOfTexts(), callsOfLogs(), callsOfBoxes(), callsOfEngines(), callsOfSearches(), callsOfCommands(), callsOfSessions())
 	for _, n := range sampleNumbers() {
 		list = append(list,
 			call{"CodeWord", false, func() []any { return oneAnswer(impl.CodeWord(n)) }},
@@ -623,6 +699,20 @@ func TestListsStay(t *testing.T) {
 	}
 	for _, c := range sampleCommands() {
 		checkStays(t, "CommandText", c.Args, func(list []string) { impl.CommandText(impl.Command{Tag: c.Tag, Name: c.Name, Args: list}) })
+	}
+	for _, view := range sampleViews() {
+		checkStays(t, "ViewUpdates", view, func(list []int) { impl.ViewUpdates(boxOf("news", 1, 60, upTo(3, 32)...), list) })
+		checkStays(t, "ImapOK", view, func(list []int) { impl.ImapOK(selectedOf("news", true, list...)) })
+	}
+	for _, items := range sampleItems() {
+		for _, withUid := range []bool{false, true} {
+			checkStays(t, "FetchText", items, func(list []string) {
+				impl.FetchText(impl.Stored{Uid: 1, Text: "X: y\r\n\r\nbody\r\n"}, 1, list, withUid)
+			})
+		}
+	}
+	for _, lines := range [][]string{nil, sampleLines(), append([]string{"a login me feed", "a select news"}, sampleLines()[:17]...), make([]string, 61)} {
+		checkStays(t, "ImapRun", lines, func(list []string) { impl.ImapRun(newsEngine(1000), list) })
 	}
 }
 
@@ -1223,6 +1313,82 @@ func TestCommandsAreNewMemory(t *testing.T) {
 	clear(first[:cap(first)])
 	if again, _ := impl.ListWords(list); strings.Join(second, " ") != "some plain words" || !slices.Equal(again, second) {
 		t.Errorf("answers of ListWords share memory: %q, %q", second, again)
+	}
+}
+
+func TestSessionsStay(t *testing.T) {
+	for _, e := range talkedEngines() {
+		for _, s := range sampleSessions() {
+			room := widened(e.Boxes)
+			before := copiedBoxes(room)
+			asked := narrowed(room)
+			whole := slices.Clone(asked[:len(e.Boxes)+1])
+			engine := impl.Engine{Log: e.Log, Boxes: asked}
+			for _, x := range sampleLines() {
+				checkStays(t, "ImapStep", s.View, func(view []int) {
+					session := s
+					session.View = view
+					impl.ImapStep(engine, session, x)
+				})
+			}
+			impl.ImapRun(engine, sampleLines()[:17])
+			impl.ImapRun(engine, append([]string{"a login me feed", "a select news"}, sampleLines()[:17]...))
+			for _, b := range asked[:min(len(asked), 3)] {
+				impl.ViewUpdates(b, s.View)
+			}
+			if !sameAnswer(room, before) || !sameAnswer(asked[:len(e.Boxes)+1], whole) {
+				t.Errorf("something was written into %s, or behind its boxes", told(e))
+			}
+		}
+	}
+}
+
+// checkNewSession asks that a session that is answered shares nothing with the one that was handed in, nor with the command.
+func checkNewSession(t *testing.T, e impl.Engine, s impl.Imap, text string) {
+	t.Helper()
+	s.Box, s.View, text = strings.Clone(s.Box), slices.Clone(s.View), strings.Clone(text)
+	view := slices.Clone(s.View)
+	got, next, said, _ := impl.ImapStep(e, s, text)
+	texts := append(textsOfBoxes(e.Boxes...), e.Log.Data, s.Box, text)
+	checkNew(t, "ImapStep, the session", []string{next.Box, said}, texts)
+	checkNew(t, "ImapStep, all", []string{next.Box, said}, append(textsOfBoxes(got.Boxes...), got.Log.Data))
+	want := slices.Clone(next.View)
+	_ = append(next.View, 77)
+	clear(next.View[:cap(next.View)])
+	if _, again, _, _ := impl.ImapStep(e, s, text); !slices.Equal(s.View, view) || !slices.Equal(again.View, want) {
+		t.Errorf("answers of ImapStep to %q share memory", brief(text))
+	}
+}
+
+func TestSessionsAreNewMemory(t *testing.T) {
+	for _, e := range append(someEngines(), newsEngine(0), newsEngine(30), newsEngine(5000)) {
+		e.Log.Data, e.Boxes = strings.Clone(e.Log.Data), freshBoxes(e.Boxes)
+		for _, s := range []impl.Imap{{}, {State: 1}, {State: 2}, selectedOf("news", false, 1, 2, 3), selectedOf("news", true, 1, 3, 9)} {
+			for _, x := range sampleLines() {
+				checkNewEngine(t, "ImapStep", e, []string{s.Box, x}, func() impl.Engine { got, _, _, _ := impl.ImapStep(e, s, x); return got })
+				checkNewSession(t, e, s, x)
+			}
+		}
+		lines := []string{"a login me feed", "b select news", "c noop", "d store 1 +flags (\\Deleted)", "e expunge"}
+		for n := range len(lines) + 1 {
+			checkNewEngine(t, "ImapRun", e, lines, func() impl.Engine { got, _, _ := impl.ImapRun(e, lines[:n]); return got })
+		}
+	}
+	b := boxOf("news", 1, 9, 2, 3, 9)
+	for _, view := range [][]int{nil, {2, 3, 9}, {1, 2}, {2, 3, 4, 9}} {
+		was := slices.Clone(view)
+		said, left, _ := impl.ViewUpdates(b, view)
+		again, other, _ := impl.ViewUpdates(b, view)
+		clear(left[:cap(left)])
+		if !slices.Equal(view, was) || !slices.Equal(other, []int{2, 3, 9}) || said != again {
+			t.Errorf("ViewUpdates of %d shares memory, or is %d", was, other)
+		}
+	}
+	m := impl.Stored{Uid: 1, Text: strings.Clone("X: y\r\n\r\nbody\r\n")}
+	for _, item := range allItems() {
+		item = strings.Clone(item)
+		said, _, _ := impl.FetchText(m, 1, []string{item}, false)
+		checkNew(t, "FetchText", []string{said}, []string{m.Text, item})
 	}
 }
 
