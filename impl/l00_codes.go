@@ -1,9 +1,14 @@
 package impl
 
+import "strconv"
+
 const (
 	MaxText = 65536
 	MaxList = 4096
 	MaxName = 40
+
+	// The first number with more digits than a number's text has.
+	tooGreat = 1000000000000000000
 
 	OK          = 0
 	ErrBad      = 1
@@ -68,6 +73,13 @@ func beginsName(c byte) bool {
 
 func isDigit(c byte) bool {
 	return c >= '0' && c <= '9'
+}
+
+// numberSaid is what a number's text says, and whether a text is one.
+func numberSaid(t string) (int, bool) {
+	// A number is told in one way alone, which has no sign or nought too many.
+	n, err := strconv.Atoi(t)
+	return n, err == nil && n > -tooGreat && n < tooGreat && strconv.Itoa(n) == t
 }
 
 func CodeWord(code int) string {

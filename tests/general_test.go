@@ -182,6 +182,21 @@ func sampleItems() [][]string {
 	return [][]string{nil, {}, {"flags"}, {"UID", "body[]", "BODY.PEEK[text]", "rfc822.size"}, {"body[x]"}, {"flags", ""}, {endlessText}, slices.Repeat([]string{"body[header]"}, impl.MaxArgs), slices.Repeat([]string{"uid"}, impl.MaxArgs+1), make([]string, impl.MaxList), make([]string, impl.MaxList+1)}
 }
 
+// Sessions that read news, right and not.
+func sampleReaders() []impl.Nntp {
+	return append(someReaders()[:9:9], impl.Nntp{Over: true}, impl.Nntp{Group: "first", Now: 3}, impl.Nntp{Group: "full", Now: 30}, impl.Nntp{Group: "gone", Now: 1}, impl.Nntp{Now: 1}, impl.Nntp{Over: true, Group: "news", Now: 1}, impl.Nntp{Group: endlessText}, impl.Nntp{Group: "news", Now: math.MinInt}, impl.Nntp{Group: "news", Now: impl.MaxUid + 1})
+}
+
+// Lines of sessions that read news, and what is none.
+func sampleNews() []string {
+	return []string{
+		"", "  ", "capabilities", "mode reader", "mode", "list", "group news", "GROUP first", "group none", "listgroup", "listgroup more", "article", "article 2", "head 3", "body 1", "body x", "stat 1000", "next", "last", "over", "over 1-", "over 3-1", "over x", "post", "quit", "quit x", "\xff", strings.Repeat(" ", 500), strings.Repeat("x", 501), fullText, longText,
+	}
+}
+
+// Boxes with mails beside those of sampleStores, whose texts are none.
+func readStores() [][]impl.Box { return append(sampleStores(), newsBoxes()) }
+
 // Engines with mails beside those of sampleEngines, whose texts are none.
 func talkedEngines() []impl.Engine {
 	return append(sampleEngines(), newsEngine(0), newsEngine(30), newsEngine(5000))
@@ -260,6 +275,30 @@ func callsOfSessions() []call {
 				)
 			}
 		}
+	}
+	return list
+}
+
+// A session stands beside ErrState of NntpStep.
+func callsOfReaders() []call {
+	var list []call
+	for _, boxes := range readStores() {
+		for _, s := range sampleReaders() {
+			for _, line := range sampleNews() {
+				list = append(list, call{"NntpStep", !s.Over, func() []any { return twoWithCode(impl.NntpStep(boxes, s, line)) }})
+			}
+		}
+		for _, lines := range append(sampleWords(), sampleNews(), append([]string{"group news"}, sampleNews()[:24]...), make([]string, 60), make([]string, 61)) {
+			list = append(list, call{"NntpRun", true, func() []any { return withCode(impl.NntpRun(boxes, lines)) }})
+		}
+		for _, b := range boxes[:min(len(boxes), 2)] {
+			for _, m := range b.Mails {
+				list = append(list, call{"OverLine", true, func() []any { return withCode(impl.OverLine(m)) }})
+			}
+		}
+	}
+	for _, m := range sampleStored() {
+		list = append(list, call{"OverLine", true, func() []any { return withCode(impl.OverLine(m)) }})
 	}
 	return list
 }
@@ -364,7 +403,7 @@ func callsOfCommands() []call {
 	return list
 }
 
-// callsOfTexts is every call of chapters 1 to 14 that takes a text, and perhaps a number or another text, with every sample.
+// callsOfTexts is every call of chapters 1 to 15 that takes a text, and perhaps a number or another text, with every sample.
 func callsOfTexts() []call {
 	var list []call
 	for _, x := range sampleTexts() {
@@ -433,6 +472,14 @@ func callsOfTexts() []call {
 				return []any{got, next, said, code}
 			}},
 			call{"ImapRun", true, func() []any { return twoWithCode(impl.ImapRun(impl.Engine{}, []string{"a login me feed", x})) }},
+			call{"DotStuff", true, func() []any { return withCode(impl.DotStuff(x)) }},
+			call{"DotStuff", true, func() []any { return withCode(impl.DotStuff(x + "\r\n.\r\n")) }},
+			call{"DotUnstuff", true, func() []any { return withCode(impl.DotUnstuff(x)) }},
+			call{"DotUnstuff", true, func() []any { return withCode(impl.DotUnstuff(x + "\r\n.\r\n")) }},
+			call{"OverLine", true, func() []any { return withCode(impl.OverLine(impl.Stored{Uid: 1, Text: x})) }},
+			call{"NntpStep", true, func() []any { return twoWithCode(impl.NntpStep(nil, impl.Nntp{}, x)) }},
+			call{"NntpStep", true, func() []any { return twoWithCode(impl.NntpStep(nil, impl.Nntp{Group: x, Now: 1}, "stat")) }},
+			call{"NntpRun", true, func() []any { return withCode(impl.NntpRun(nil, []string{x, "group " + x, "over " + x})) }},
 			call{"MatchSearch", true, func() []any {
 				return withCode(impl.MatchSearch([]impl.SearchKey{wordKey("TEXT", x), wordKey("FROM", "a")}, impl.Stored{Text: x}, 1, 1, 1))
 			}},
@@ -455,7 +502,7 @@ func callsOfTexts() []call {
 
 // allCalls is every call of the chapters that are built, with every sample.
 func allCalls() []call {
-	list := slices.Concat(callsOfTexts(), callsOfLogs(), callsOfBoxes(), callsOfEngines(), callsOfSearches(), callsOfCommands(), callsOfSessions())
+	list := slices.Concat(callsOfTexts(), callsOfLogs(), callsOfBoxes(), callsOfEngines(), callsOfSearches(), callsOfCommands(), callsOfSessions(), callsOfReaders())
 	for _, n := range sampleNumbers() {
 		list = append(list,
 			call{"CodeWord", false, func() []any { return oneAnswer(impl.CodeWord(n)) }},
@@ -713,6 +760,9 @@ func TestListsStay(t *testing.T) {
 	}
 	for _, lines := range [][]string{nil, sampleLines(), append([]string{"a login me feed", "a select news"}, sampleLines()[:17]...), make([]string, 61)} {
 		checkStays(t, "ImapRun", lines, func(list []string) { impl.ImapRun(newsEngine(1000), list) })
+	}
+	for _, lines := range [][]string{nil, sampleNews(), {"group news", "over 1-", "quit", "list"}, make([]string, 61)} {
+		checkStays(t, "NntpRun", lines, func(list []string) { impl.NntpRun(newsBoxes(), list) })
 	}
 }
 
@@ -1389,6 +1439,50 @@ func TestSessionsAreNewMemory(t *testing.T) {
 		item = strings.Clone(item)
 		said, _, _ := impl.FetchText(m, 1, []string{item}, false)
 		checkNew(t, "FetchText", []string{said}, []string{m.Text, item})
+	}
+}
+
+func TestReadersStay(t *testing.T) {
+	for _, list := range readStores() {
+		room := widened(list)
+		before := copiedBoxes(room)
+		asked := narrowed(room)
+		whole := slices.Clone(asked[:len(list)+1])
+		for _, s := range sampleReaders() {
+			for _, line := range sampleNews() {
+				impl.NntpStep(asked, s, line)
+			}
+		}
+		impl.NntpRun(asked, append([]string{"group news"}, sampleNews()...))
+		if !sameAnswer(room, before) || !sameAnswer(asked[:len(list)+1], whole) {
+			t.Errorf("something was written into %s, or behind them", told(list))
+		}
+	}
+}
+
+func TestReadersAreNewMemory(t *testing.T) {
+	for _, x := range []string{"a\r\n", ".\r\n", "plain words\r\n.and points\r\n"} {
+		x = strings.Clone(x)
+		block, _ := impl.DotStuff(x)
+		text, _ := impl.DotUnstuff(block)
+		checkNew(t, "DotStuff", []string{block}, []string{x})
+		checkNew(t, "DotUnstuff", []string{text}, []string{block})
+	}
+	list := freshBoxes(newsBoxes())
+	for _, m := range list[0].Mails {
+		line, _ := impl.OverLine(m)
+		checkNew(t, "OverLine", []string{line}, []string{m.Text})
+	}
+	for _, s := range someReaders() {
+		for _, line := range append(sampleNews(), "group none_yet", "listgroup news", "last", "over 5") {
+			s.Group, line = strings.Clone(s.Group), strings.Clone(line)
+			next, said, _ := impl.NntpStep(list, s, line)
+			checkNew(t, "NntpStep", []string{next.Group, said}, append(textsOfBoxes(list...), s.Group, line))
+			checkNew(t, "NntpStep, both", []string{next.Group}, []string{said})
+			lines := []string{line}
+			all, _ := impl.NntpRun(list, lines)
+			checkNew(t, "NntpRun", []string{all}, append(textsOfBoxes(list...), lines...))
+		}
 	}
 }
 
