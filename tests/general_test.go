@@ -202,6 +202,47 @@ func talkedEngines() []impl.Engine {
 	return append(sampleEngines(), newsEngine(0), newsEngine(30), newsEngine(5000))
 }
 
+// Worlds that are right, with connections of every sort, and ones that are not.
+func sampleWorlds() []impl.World {
+	conns := []impl.Conn{{Kind: 1, Imap: selectedOf("news", false, 1, 2, 3), Buffer: "a no"}, {Kind: 2, Nntp: impl.Nntp{Group: "news", Now: 1}, Buffer: "quit\r"}, {Kind: 1, Imap: impl.Imap{State: 2}, Buffer: strings.Repeat("x", 8000)}, {}}
+	wrong := slices.Clone(conns)
+	wrong[3] = impl.Conn{Kind: math.MinInt, Buffer: endlessText, Imap: selectedOf(endlessText, true, make([]int, impl.MaxList+1)...), Nntp: impl.Nntp{Group: endlessText, Now: math.MaxInt, Over: true}}
+	list := []impl.World{{}, {Conns: make([]impl.Conn, 4)}, {Engine: newsEngine(0), Conns: conns}, {Engine: newsEngine(500), Conns: conns}, {Engine: newsEngine(5000), Conns: conns}, {Engine: newsEngine(500), Conns: conns[:3]}, {Engine: newsEngine(500), Conns: wrong}, {Engine: newsEngine(500), Conns: make([]impl.Conn, impl.MaxList+1)}}
+	for _, e := range sampleEngines() {
+		list = append(list, impl.World{Engine: e, Conns: make([]impl.Conn, 4)})
+	}
+	return list
+}
+
+// Events of all kinds, and of ones that are none.
+func sampleEvents() []impl.Event {
+	list := []impl.Event{{}, {Kind: math.MinInt, Conn: math.MaxInt, Keep: math.MinInt, Box: endlessText, Data: endlessText}, {Kind: 8}, {Kind: 6, Box: "a_box"}, {Kind: 6, Box: "news"}, {Kind: 6, Box: "9"}, {Kind: 6, Box: fullText}, {Kind: 6, Box: longText}}
+	for _, conn := range []int{-1, 0, 1, 2, 3, 4, math.MaxInt, math.MinInt} {
+		list = append(list, impl.Event{Kind: 1, Conn: conn}, impl.Event{Kind: 2, Conn: conn}, impl.Event{Kind: 4, Conn: conn})
+		for _, data := range []string{"", "op\r\n", "\nlist\r\n", "\r\na store 1:* +flags (\\Deleted)\r\nb expunge\r\ngroup more\r\nc", "\r\nquit\r\na logout\r\n", strings.Repeat("\r\n", 2000), strings.Repeat("x", 4000), strings.Repeat("x", 4001), longText} {
+			list = append(list, impl.Event{Kind: 3, Conn: conn, Data: data})
+		}
+	}
+	for _, feed := range samplePolls() {
+		for _, keep := range []int{math.MinInt, 0, 20, math.MaxInt} {
+			list = append(list, impl.Event{Kind: 7, Keep: keep, Box: "news", Data: feed})
+		}
+		list = append(list, impl.Event{Kind: 5, Box: "news", Data: feed}, impl.Event{Kind: 5, Box: "none", Data: feed})
+	}
+	return list
+}
+
+// Lists of events, of which some are too long, or have texts that are.
+func sampleRuns() [][]impl.Event {
+	begin := []impl.Event{{Kind: 6, Box: "news"}, {Kind: 5, Box: "news", Data: feedOfIds("a", "b", "c")}, {Kind: 1}, {Kind: 3, Data: "a login me feed\r\nb select news\r\nc"}, {Kind: 2, Conn: 1}, {Kind: 3, Conn: 1, Data: "group news\r\nover 1-\r"}}
+	short := slices.DeleteFunc(sampleEvents(), func(e impl.Event) bool { return len(e.Box) > impl.MaxText || len(e.Data) > impl.MaxText })
+	list := [][]impl.Event{nil, {}, begin, make([]impl.Event, impl.MaxEvents), make([]impl.Event, impl.MaxEvents+1), make([]impl.Event, impl.MaxList+1), sampleEvents()[:impl.MaxEvents]}
+	for chunk := range slices.Chunk(short, impl.MaxEvents-len(begin)) {
+		list = append(list, append(slices.Clone(begin), chunk...))
+	}
+	return list
+}
+
 // A call that is put to the program, and what it answers: the code, if it has one, is the last of all.
 type call struct {
 	name  string
@@ -299,6 +340,27 @@ func callsOfReaders() []call {
 	}
 	for _, m := range sampleStored() {
 		list = append(list, call{"OverLine", true, func() []any { return withCode(impl.OverLine(m)) }})
+	}
+	return list
+}
+
+func callsOfWorlds() []call {
+	var list []call
+	for _, w := range sampleWorlds() {
+		list = append(list, call{"WorldOK", false, func() []any { return oneAnswer(impl.WorldOK(w)) }})
+		for _, e := range sampleEvents() {
+			list = append(list, call{"WorldStep", true, func() []any { return twoWithCode(impl.WorldStep(w, e)) }})
+		}
+	}
+	for _, events := range sampleRuns() {
+		for _, room := range []int{-1, 0, 500, impl.MaxRoom, impl.MaxRoom + 1} {
+			list = append(list, call{"WorldRun", true, func() []any { return twoWithCode(impl.WorldRun(room, events)) }})
+		}
+	}
+	for _, lines := range append(sampleWords(), sampleLines()[:17], sampleLines(), sampleNews()[:24], sampleNews()) {
+		for _, kind := range sampleNumbers() {
+			list = append(list, call{"SayAll", true, func() []any { return withCode(impl.SayAll(lines, kind)) }})
+		}
 	}
 	return list
 }
@@ -403,7 +465,7 @@ func callsOfCommands() []call {
 	return list
 }
 
-// callsOfTexts is every call of chapters 1 to 15 that takes a text, and perhaps a number or another text, with every sample.
+// callsOfTexts is every call of chapters 1 to 16 that takes a text, and perhaps a number or another text, with every sample.
 func callsOfTexts() []call {
 	var list []call
 	for _, x := range sampleTexts() {
@@ -480,6 +542,14 @@ func callsOfTexts() []call {
 			call{"NntpStep", true, func() []any { return twoWithCode(impl.NntpStep(nil, impl.Nntp{}, x)) }},
 			call{"NntpStep", true, func() []any { return twoWithCode(impl.NntpStep(nil, impl.Nntp{Group: x, Now: 1}, "stat")) }},
 			call{"NntpRun", true, func() []any { return withCode(impl.NntpRun(nil, []string{x, "group " + x, "over " + x})) }},
+			call{"WorldRun", true, func() []any {
+				return twoWithCode(impl.WorldRun(1000, []impl.Event{{Kind: 6, Box: x}, {Kind: 6, Box: "a"}, {Kind: 5, Box: "a", Data: x}, {Kind: 5, Box: x, Data: x}, {Kind: 7, Keep: 9, Box: x, Data: x}, {Kind: 7, Keep: 9, Box: "a", Data: x}}))
+			}},
+			call{"WorldRun", true, func() []any {
+				return twoWithCode(impl.WorldRun(1000, []impl.Event{{Kind: 1}, {Kind: 3, Data: x}, {Kind: 3, Data: x}, {Kind: 2, Conn: 1}, {Kind: 3, Conn: 1, Data: x}, {Kind: 3, Conn: 1, Data: x}}))
+			}},
+			call{"SayAll", true, func() []any { return withCode(impl.SayAll([]string{"a", x}, 1)) }},
+			call{"SayAll", true, func() []any { return withCode(impl.SayAll([]string{"a", x}, 2)) }},
 			call{"MatchSearch", true, func() []any {
 				return withCode(impl.MatchSearch([]impl.SearchKey{wordKey("TEXT", x), wordKey("FROM", "a")}, impl.Stored{Text: x}, 1, 1, 1))
 			}},
@@ -502,7 +572,7 @@ func callsOfTexts() []call {
 
 // allCalls is every call of the chapters that are built, with every sample.
 func allCalls() []call {
-	list := slices.Concat(callsOfTexts(), callsOfLogs(), callsOfBoxes(), callsOfEngines(), callsOfSearches(), callsOfCommands(), callsOfSessions(), callsOfReaders())
+	list := slices.Concat(callsOfTexts(), callsOfLogs(), callsOfBoxes(), callsOfEngines(), callsOfSearches(), callsOfCommands(), callsOfSessions(), callsOfReaders(), callsOfWorlds())
 	for _, n := range sampleNumbers() {
 		list = append(list,
 			call{"CodeWord", false, func() []any { return oneAnswer(impl.CodeWord(n)) }},
@@ -514,6 +584,7 @@ func allCalls() []call {
 			call{"Rfc822Text", true, func() []any { return withCode(impl.Rfc822Text(n)) }},
 			call{"NewLog", true, func() []any { return withCode(impl.NewLog(n)) }},
 			call{"NewEngine", true, func() []any { return withCode(impl.NewEngine(n)) }},
+			call{"NewWorld", true, func() []any { return withCode(impl.NewWorld(n)) }},
 			call{"FlagsText", true, func() []any { return withCode(impl.FlagsText(n)) }},
 		)
 	}
@@ -763,6 +834,13 @@ func TestListsStay(t *testing.T) {
 	}
 	for _, lines := range [][]string{nil, sampleNews(), {"group news", "over 1-", "quit", "list"}, make([]string, 61)} {
 		checkStays(t, "NntpRun", lines, func(list []string) { impl.NntpRun(newsBoxes(), list) })
+	}
+	for _, events := range sampleRuns() {
+		checkStays(t, "WorldRun", events, func(list []impl.Event) { impl.WorldRun(5000, list) })
+	}
+	for _, lines := range append(sampleWords(), sampleLines()[:17], sampleNews()[:24]) {
+		checkStays(t, "SayAll", lines, func(list []string) { impl.SayAll(list, impl.GwImap) })
+		checkStays(t, "SayAll", lines, func(list []string) { impl.SayAll(list, impl.GwNntp) })
 	}
 }
 
@@ -1483,6 +1561,132 @@ func TestReadersAreNewMemory(t *testing.T) {
 			all, _ := impl.NntpRun(list, lines)
 			checkNew(t, "NntpRun", []string{all}, append(textsOfBoxes(list...), lines...))
 		}
+	}
+}
+
+// copiedConns is connections that share no list with others.
+func copiedConns(list []impl.Conn) []impl.Conn {
+	list = slices.Clone(list)
+	for i := range list {
+		list[i].Imap.View = slices.Clone(list[i].Imap.View)
+	}
+	return list
+}
+
+func TestWorldsStay(t *testing.T) {
+	for _, w := range sampleWorlds() {
+		boxes := widened(w.Engine.Boxes)
+		beforeBoxes := copiedBoxes(boxes)
+		asked := narrowed(boxes)
+		wholeBoxes := slices.Clone(asked[:len(w.Engine.Boxes)+1])
+		conns := append(copiedConns(w.Conns), impl.Conn{Buffer: "behind"})
+		for i := range conns {
+			conns[i].Imap.View = append(conns[i].Imap.View, 77, 78)
+		}
+		before := copiedConns(conns)
+		for i := range conns {
+			conns[i].Imap.View = conns[i].Imap.View[:len(conns[i].Imap.View)-2]
+		}
+		world := impl.World{Engine: impl.Engine{Log: w.Engine.Log, Boxes: asked}, Conns: conns[:len(w.Conns)]}
+		impl.WorldOK(world)
+		for _, e := range sampleEvents() {
+			impl.WorldStep(world, e)
+		}
+		for i := range conns {
+			conns[i].Imap.View = conns[i].Imap.View[:len(conns[i].Imap.View)+2]
+		}
+		if !sameAnswer(conns, before) || !sameAnswer(boxes, beforeBoxes) || !sameAnswer(asked[:len(w.Engine.Boxes)+1], wholeBoxes) {
+			t.Errorf("something was written into %s, or behind its lists", told(w))
+		}
+	}
+}
+
+// textsOfWorld is each text of a world.
+func textsOfWorld(w impl.World) []string {
+	texts := append(textsOfBoxes(w.Engine.Boxes...), w.Engine.Log.Data)
+	for _, c := range w.Conns {
+		texts = append(texts, c.Buffer, c.Imap.Box, c.Nntp.Group)
+	}
+	return texts
+}
+
+func freshWorld(w impl.World) impl.World {
+	w.Engine.Log.Data, w.Engine.Boxes, w.Conns = strings.Clone(w.Engine.Log.Data), freshBoxes(w.Engine.Boxes), copiedConns(w.Conns)
+	for i, c := range w.Conns {
+		w.Conns[i].Buffer, w.Conns[i].Imap.Box, w.Conns[i].Nntp.Group = strings.Clone(c.Buffer), strings.Clone(c.Imap.Box), strings.Clone(c.Nntp.Group)
+	}
+	return w
+}
+
+// checkNewWorld asks that a world that is answered, and what is told, share nothing with what was handed in, nor with each other.
+func checkNewWorld(t *testing.T, name string, arguments []string, ask func() (impl.World, []impl.Told)) {
+	t.Helper()
+	got, tells := ask()
+	texts := textsOfWorld(got)
+	checkNew(t, name, texts, arguments)
+	for i, text := range texts {
+		checkNew(t, name+", all", []string{text}, texts[i+1:])
+	}
+	for _, tell := range tells {
+		checkNew(t, name+", what is told", []string{tell.Text}, append(arguments, texts...))
+	}
+	want, wantTells := copiedConns(got.Conns), slices.Clone(tells)
+	for i, c := range got.Conns {
+		_ = append(c.Imap.View, 77)
+		clear(c.Imap.View[:cap(c.Imap.View)])
+		if !sameAnswer(got.Conns[i+1:], want[i+1:]) {
+			t.Errorf("lists of one answer of %s share memory", name)
+		}
+	}
+	clear(got.Conns[:cap(got.Conns)])
+	clear(tells[:cap(tells)])
+	if again, tells := ask(); !sameAnswer(again.Conns, want) || !slices.Equal(tells, wantTells) {
+		t.Errorf("answers of %s share memory", name)
+	}
+}
+
+func TestWorldsAreNewMemory(t *testing.T) {
+	for _, w := range sampleWorlds() {
+		if !impl.WorldOK(w) {
+			continue
+		}
+		w = freshWorld(w)
+		for _, e := range append(sampleEvents(), impl.Event{Kind: 3, Conn: 1, Data: "\nstat\r\ngroup none_yet\r\nlist"}, impl.Event{Kind: 3, Data: "op\r\nb examine more\r\nc select none_yet\r\nd"}) {
+			e.Box, e.Data = strings.Clone(e.Box), strings.Clone(e.Data)
+			arguments := append(textsOfWorld(w), e.Box, e.Data)
+			checkNewWorld(t, "WorldStep", arguments, func() (impl.World, []impl.Told) {
+				next, tell, _ := impl.WorldStep(w, e)
+				return next, []impl.Told{tell}
+			})
+			checkNewEngine(t, "WorldStep", w.Engine, []string{e.Box, e.Data}, func() impl.Engine { next, _, _ := impl.WorldStep(w, e); return next.Engine })
+		}
+	}
+	for _, events := range sampleRuns() {
+		events = slices.Clone(events)
+		var arguments []string
+		for i, e := range events {
+			events[i].Box, events[i].Data = strings.Clone(e.Box), strings.Clone(e.Data)
+			arguments = append(arguments, events[i].Box, events[i].Data)
+		}
+		checkNewWorld(t, "WorldRun", arguments, func() (impl.World, []impl.Told) {
+			w, tells, _ := impl.WorldRun(impl.MaxRoom, events)
+			return w, tells
+		})
+	}
+	for kind, lines := range map[int][]string{1: {strings.Clone("a noop"), strings.Clone("b {2}\r\nab")}, 2: {strings.Clone("group news"), strings.Clone("list")}} {
+		first, _ := impl.SayAll(lines, kind)
+		second, _ := impl.SayAll(lines, kind)
+		checkNew(t, "SayAll", first, lines)
+		want := slices.Clone(second)
+		clear(first[:cap(first)])
+		if again, _ := impl.SayAll(lines, kind); !slices.Equal(second, want) || !slices.Equal(again, want) {
+			t.Errorf("answers of SayAll share memory: %q, %q", second, again)
+		}
+	}
+	first, _ := impl.NewWorld(9)
+	first.Conns[0].Kind = 1
+	if second, _ := impl.NewWorld(9); second.Conns[0].Kind != 0 {
+		t.Error("answers of NewWorld share memory")
 	}
 }
 
