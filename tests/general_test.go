@@ -243,6 +243,15 @@ func sampleRuns() [][]impl.Event {
 	return list
 }
 
+// Texts of lines of a console, and lines of their own.
+func sampleScripts() []string {
+	list := []string{"make a", " poll  a  <feed/> ", "say 0 a  b ", "say 3", "imap -1", "nntp 999999999999999999", "close 01", "crash", "crash now", "make a\nb", "#", " # x", "poll a " + strings.Repeat("x", 32761), "poll a " + strings.Repeat("x", 32762), strings.Repeat("\n", 100), strings.Repeat("\n", 101), strings.Repeat("\n", 32769)}
+	for _, lines := range everyScripts() {
+		list = append(list, strings.Join(lines, "\n"))
+	}
+	return list
+}
+
 // A call that is put to the program, and what it answers: the code, if it has one, is the last of all.
 type call struct {
 	name  string
@@ -361,6 +370,17 @@ func callsOfWorlds() []call {
 		for _, kind := range sampleNumbers() {
 			list = append(list, call{"SayAll", true, func() []any { return withCode(impl.SayAll(lines, kind)) }})
 		}
+	}
+	return list
+}
+
+func callsOfConsoles() []call {
+	var list []call
+	for _, x := range append(sampleTexts(), sampleScripts()...) {
+		list = append(list,
+			call{"ReadLine", true, func() []any { return withCode(impl.ReadLine(x)) }},
+			call{"Console", true, func() []any { return withCode(impl.Console(x)) }},
+		)
 	}
 	return list
 }
@@ -572,7 +592,7 @@ func callsOfTexts() []call {
 
 // allCalls is every call of the chapters that are built, with every sample.
 func allCalls() []call {
-	list := slices.Concat(callsOfTexts(), callsOfLogs(), callsOfBoxes(), callsOfEngines(), callsOfSearches(), callsOfCommands(), callsOfSessions(), callsOfReaders(), callsOfWorlds())
+	list := slices.Concat(callsOfTexts(), callsOfLogs(), callsOfBoxes(), callsOfEngines(), callsOfSearches(), callsOfCommands(), callsOfSessions(), callsOfReaders(), callsOfWorlds(), callsOfConsoles())
 	for _, n := range sampleNumbers() {
 		list = append(list,
 			call{"CodeWord", false, func() []any { return oneAnswer(impl.CodeWord(n)) }},
@@ -1687,6 +1707,25 @@ func TestWorldsAreNewMemory(t *testing.T) {
 	first.Conns[0].Kind = 1
 	if second, _ := impl.NewWorld(9); second.Conns[0].Kind != 0 {
 		t.Error("answers of NewWorld share memory")
+	}
+}
+
+func TestConsolesAreNewMemory(t *testing.T) {
+	for _, x := range append(sampleTexts(), sampleScripts()...) {
+		x = strings.Clone(x)
+		e, _ := impl.ReadLine(x)
+		checkNew(t, "ReadLine", []string{e.Box, e.Data}, []string{x})
+		checkNew(t, "ReadLine, all", []string{e.Box}, []string{e.Data})
+		said, _ := impl.Console(x)
+		checkNew(t, "Console", []string{said}, []string{x})
+	}
+	for _, line := range []string{"make news", "poll news <feed/>", "  poll   news  <feed/>  ", "say 0 a noop", "say 0 x", "make x"} {
+		line = strings.Clone(line)
+		e, code := impl.ReadLine(line)
+		if code != impl.OK {
+			t.Errorf("ReadLine of %q has the code %d", line, code)
+		}
+		checkNew(t, "ReadLine", []string{e.Box, e.Data}, []string{line})
 	}
 }
 
