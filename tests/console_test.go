@@ -4,6 +4,7 @@ import (
 	"fmt"
 	"math/rand"
 	"slices"
+	"sort"
 	"strings"
 	"testing"
 
@@ -322,6 +323,46 @@ func TestWhatIsSaidToPolls(t *testing.T) {
 		want = append(want, []string{"1 new", "error full"}[min(k/17, 1)])
 	}
 	checkSaid(t, strings.Join(append(lines, "poll news "+shortFeed(0, 1), "crash", lines[1], lines[20]), "\n"), append(want, "1 new", "ok", "0 new", "error full")...)
+}
+
+// The room is MaxRoom to the byte: what fits just so is done, one byte more is not.
+func TestRoomOfConsoles(t *testing.T) {
+	poll := func(id, content string) string {
+		return "poll news <feed><entry><id>" + id + "</id><content>" + content + "</content></entry></feed>"
+	}
+	room := func(lines []string) int {
+		var events []impl.Event
+		for _, line := range lines {
+			e, _ := impl.ReadLine(line)
+			events = append(events, e)
+		}
+		w, _, _ := impl.WorldRun(impl.MaxRoom, events)
+		return impl.MaxRoom - len(w.Engine.Log.Data)
+	}
+	lines, said := []string{"make news"}, []string{"ok"}
+	for k := range 17 {
+		lines, said = append(lines, poll(fmt.Sprint(k), strings.Repeat("=", 1000))), append(said, "1 new")
+	}
+	fill := func(n int) []string { return append(slices.Clone(lines), poll("last", strings.Repeat("=", n))) }
+	empty := room(lines)
+	filled := fill(sort.Search(1000, func(n int) bool {
+		left := room(fill(n))
+		return left <= 50 || left == empty
+	}))
+	said = append(said, "1 new")
+	left := room(filled)
+	if left < 20 || left > 50 {
+		t.Fatalf("%d bytes are left", left)
+	}
+	// A box's record has 14 bytes beside the name.
+	for size := 1; size <= impl.MaxName; size++ {
+		script := append(slices.Clone(filled), "make "+strings.Repeat("n", size))
+		if 14+size <= left {
+			checkSaid(t, strings.Join(script, "\n"), append(slices.Clone(said), "ok")...)
+		} else {
+			checkSaid(t, strings.Join(append(script, "make n"), "\n"), append(slices.Clone(said), "error full", "ok")...)
+		}
+	}
 }
 
 // Texts of several lines, of none, and of bytes 13, which are left out.
